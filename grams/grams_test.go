@@ -8,6 +8,7 @@ import (
 
 	"harbinger/api"
 	"harbinger/grams"
+	. "harbinger/made"
 	"harbinger/nodes"
 	"harbinger/runes"
 	"harbinger/scans"
@@ -22,37 +23,6 @@ const (
 
 // head is how a grammar begins whose rules alone matter.
 const head = "grammar G; "
-
-func node(k api.Kind, subs ...api.Node) api.Node {
-	return api.Node{Kind: k, Subs: subs}
-}
-
-func alts(subs ...api.Node) api.Node { return node(api.KAlts, subs...) }
-func seq(subs ...api.Node) api.Node  { return node(api.KSeq, subs...) }
-func opt(n api.Node) api.Node        { return node(api.KOpt, n) }
-func star(n api.Node) api.Node       { return node(api.KStar, n) }
-func plus(n api.Node) api.Node       { return node(api.KPlus, n) }
-func pred(n api.Node) api.Node       { return node(api.KPred, n) }
-func ref(name string) api.Node       { return api.Node{Kind: api.KRef, Name: name} }
-func tok(name string) api.Node       { return api.Node{Kind: api.KTok, Name: name} }
-func lit(text string) api.Node       { return api.Node{Kind: api.KLit, Text: text} }
-
-// set is of pairs: where a range begins, and where it ends.
-func set(ends ...rune) api.Node {
-	n := api.Node{Kind: api.KSet}
-	for ; len(ends) > 0; ends = ends[2:] {
-		n.Set = append(n.Set, api.Range{Low: ends[0], High: ends[1]})
-	}
-	return n
-}
-
-func rule(sort api.Sort, name string, body api.Node) api.Rule {
-	return api.Rule{Name: name, Sort: sort, Body: body}
-}
-
-func grammar(rules ...api.Rule) api.Grammar {
-	return api.Grammar{Name: "G", Options: api.Options{Bound: 2, States: 256}, Rules: rules}
-}
 
 // same holds grammars against each other, but for places.
 func same(a, b api.Grammar) bool {
@@ -100,7 +70,7 @@ D:'d';`
 func TestExamples(t *testing.T) {
 	s := "grammar G; a : B* ; B : 'b' ;"
 	g := fine(t, s)
-	want := grammar(rule(api.SParser, "a", star(tok("B"))), rule(api.SToken, "B", lit("b")))
+	want := Grammar(Rule(api.SParser, "a", Star(Tok("B"))), Rule(api.SToken, "B", Lit("b")))
 	want.Rules[0].At = runes.Place(s, 11)
 	want.Rules[1].At = runes.Place(s, 20)
 	if !reflect.DeepEqual(g, want) {
@@ -111,19 +81,19 @@ func TestExamples(t *testing.T) {
 
 // P4.1: what all of it is read as.
 func TestRead(t *testing.T) {
-	b, c, d := tok("B"), ref("c"), tok("D")
+	b, c, d := Tok("B"), Ref("c"), Tok("D")
 	want := api.Grammar{Name: "Sample_1", Options: api.Options{Bound: 3, States: 300}, Rules: []api.Rule{
-		rule(api.SParser, "a", alts(
-			seq(pred(alts(b, seq(opt(c), star(d)))), plus(b), ref("a")),
-			seq(),
-			seq(star(seq(pred(c), d)), alts(seq(b, tok("C")), seq())),
-			seq(),
+		Rule(api.SParser, "a", Alts(
+			Seq(Pred(Alts(b, Seq(Opt(c), Star(d)))), Plus(b), Ref("a")),
+			Seq(),
+			Seq(Star(Seq(Pred(c), d)), Alts(Seq(b, Tok("C")), Seq())),
+			Seq(),
 		)),
-		rule(api.SParser, "c", pred(b)),
-		rule(api.SToken, "B", alts(lit("it's"), seq(plus(set('a', 'c', ']', ']', 'x', 'x')), opt(tok("F")), set(0, ']', 0x7f, below, above, last), set(0, below, above, last), star(set('a', last))))),
-		rule(api.SFragment, "F", alts(lit("f"), seq())),
-		rule(api.SSkip, "S", plus(alts(lit(" "), lit("\t")))),
-		rule(api.SToken, "D", lit("d")),
+		Rule(api.SParser, "c", Pred(b)),
+		Rule(api.SToken, "B", Alts(Lit("it's"), Seq(Plus(Set('a', 'c', ']', ']', 'x', 'x')), Opt(Tok("F")), Set(0, ']', 0x7f, below, above, last), Set(0, below, above, last), Star(Set('a', last))))),
+		Rule(api.SFragment, "F", Alts(Lit("f"), Seq())),
+		Rule(api.SSkip, "S", Plus(Alts(Lit(" "), Lit("\t")))),
+		Rule(api.SToken, "D", Lit("d")),
 	}}
 	at := 0
 	for i, name := range []string{"a :", "c :", "B :", "F :", "S :", "D:"} {
@@ -138,7 +108,7 @@ func TestRead(t *testing.T) {
 // P4.1: names of grammars.
 func TestGrammarNames(t *testing.T) {
 	for _, name := range []string{"G", "g", "a_1", "Zz09_", "grammar", "options", "fragment", "skip", "bound", strings.Repeat("x", api.MaxName)} {
-		want := grammar()
+		want := Grammar()
 		want.Name = name
 		for _, s := range []string{"grammar " + name + ";", "\n/**/grammar//\n" + name + "\t; // "} {
 			if g := fine(t, s); !same(g, want) {
@@ -225,7 +195,7 @@ func TestRules(t *testing.T) {
 			ahead := s + ahead
 			g := fine(t, ahead+behind)
 			r := g.Rules[len(g.Rules)-1]
-			if !reflect.DeepEqual(r, api.Rule{Name: k.name, Sort: k.sort, Body: seq(), At: runes.Place(ahead+behind, len(ahead))}) {
+			if !reflect.DeepEqual(r, api.Rule{Name: k.name, Sort: k.sort, Body: Seq(), At: runes.Place(ahead+behind, len(ahead))}) {
 				t.Errorf("Read(%q): %v", ahead+behind, r)
 			}
 		}

@@ -8,6 +8,7 @@ import (
 
 	"harbinger/api"
 	"harbinger/grams"
+	. "harbinger/made"
 	"harbinger/nodes"
 	"harbinger/scans"
 )
@@ -25,7 +26,7 @@ func TestManyRules(t *testing.T) {
 		t.Errorf("%d rules", len(g.Rules))
 	}
 	for i, r := range g.Rules {
-		if want := []string{"a", "A", "A", "A"}[i%4] + strconv.Itoa(i); r.Name != want || int(r.Sort) != i%4 || !nodes.Same(r.Body, tok("B")) {
+		if want := []string{"a", "A", "A", "A"}[i%4] + strconv.Itoa(i); r.Name != want || int(r.Sort) != i%4 || !nodes.Same(r.Body, Tok("B")) {
 			t.Errorf("rule %d: %v", i, r)
 		}
 	}
@@ -99,7 +100,7 @@ func TestBodiesLimits(t *testing.T) {
 	if n := body(t, "["+strings.Repeat("x", 20000)+"]", true); len(n.Set) != 20000 {
 		t.Errorf("%d ranges", len(n.Set))
 	}
-	if n := body(t, "~["+strings.Repeat("x", 20000)+"]", true); !nodes.Same(n, set(0, 'x'-1, 'x'+1, below, above, last)) {
+	if n := body(t, "~["+strings.Repeat("x", 20000)+"]", true); !nodes.Same(n, Set(0, 'x'-1, 'x'+1, below, above, last)) {
 		t.Errorf("%v", n)
 	}
 }
@@ -186,7 +187,7 @@ func TestManyBrackets(t *testing.T) {
 	faulty(t, head+"A:"+open+"@", api.ErrForm)
 	half := (api.MaxText - len(head+"a:A;")) / 2
 	s := head + "a:" + strings.Repeat("(", half) + "A" + strings.Repeat(")", half) + ";"
-	if g := fine(t, s); !same(g, grammar(rule(api.SParser, "a", tok("A")))) {
+	if g := fine(t, s); !same(g, Grammar(Rule(api.SParser, "a", Tok("A")))) {
 		t.Error("A within brackets is not A")
 	}
 	faulty(t, strings.TrimSuffix(s, ";")+"@", api.ErrForm)

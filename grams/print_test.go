@@ -8,53 +8,41 @@ import (
 
 	"harbinger/api"
 	"harbinger/grams"
+	. "harbinger/made"
 	"harbinger/nodes"
 	"harbinger/scans"
 )
 
-// rings are nodes that are within themselves.
-func rings() []api.Node {
-	var all []api.Node
-	for k := api.KAlts; k <= api.KSet+1; k++ {
-		one := node(k, tok("A"))
-		one.Subs[0] = one
-		two := node(k, tok("A"), seq(tok("B"), tok("C")))
-		two.Subs[1].Subs[1] = two
-		all = append(all, one, two)
-	}
-	return all
-}
-
 // P4.2
 func TestRule(t *testing.T) {
-	a, b := tok("A"), ref("b")
+	a, b := Tok("A"), Ref("b")
 	for _, k := range []struct {
 		r    api.Rule
 		want string
 	}{
-		{rule(api.SParser, "a", star(tok("B"))), "a : B* ;"},
-		{rule(api.SToken, "B", lit("b")), "B : 'b' ;"},
-		{rule(api.SFragment, "B", lit("b")), "fragment B : 'b' ;"},
-		{rule(api.SSkip, "B", lit("b")), "skip B : 'b' ;"},
-		{rule(api.SParser, "a", seq()), "a : () ;"},
-		{rule(api.SSkip, "A", seq()), "skip A : () ;"},
-		{rule(api.SParser, "a", alts(seq(pred(alts(a, b)), a), seq())), "a : (A | b) => A | () ;"},
-		{rule(api.SParser, "a", alts(alts(a, b), seq(seq(a, b), alts(a, b), star(alts(a, b))))), "a : (A | b) | (A b) (A | b) (A | b)* ;"},
-		{rule(api.SParser, "a", opt(pred(a))), "a : ((A) =>)? ;"},
-		{rule(api.SToken, "A", seq(set('a', 'c', ']', ']'), plus(set(0, below, above, last)), lit("it's\n"))), `A : [a-c\]] [\u{0}-\u{d7ff}\u{e000}-\u{10ffff}]+ 'it\'s\n' ;`},
-		{rule(api.SToken, strings.Repeat("A", api.MaxName), a), strings.Repeat("A", api.MaxName) + " : A ;"},
+		{Rule(api.SParser, "a", Star(Tok("B"))), "a : B* ;"},
+		{Rule(api.SToken, "B", Lit("b")), "B : 'b' ;"},
+		{Rule(api.SFragment, "B", Lit("b")), "fragment B : 'b' ;"},
+		{Rule(api.SSkip, "B", Lit("b")), "skip B : 'b' ;"},
+		{Rule(api.SParser, "a", Seq()), "a : () ;"},
+		{Rule(api.SSkip, "A", Seq()), "skip A : () ;"},
+		{Rule(api.SParser, "a", Alts(Seq(Pred(Alts(a, b)), a), Seq())), "a : (A | b) => A | () ;"},
+		{Rule(api.SParser, "a", Alts(Alts(a, b), Seq(Seq(a, b), Alts(a, b), Star(Alts(a, b))))), "a : (A | b) | (A b) (A | b) (A | b)* ;"},
+		{Rule(api.SParser, "a", Opt(Pred(a))), "a : ((A) =>)? ;"},
+		{Rule(api.SToken, "A", Seq(Set('a', 'c', ']', ']'), Plus(Set(0, below, above, last)), Lit("it's\n"))), `A : [a-c\]] [\u{0}-\u{d7ff}\u{e000}-\u{10ffff}]+ 'it\'s\n' ;`},
+		{Rule(api.SToken, strings.Repeat("A", api.MaxName), a), strings.Repeat("A", api.MaxName) + " : A ;"},
 
 		// what is not sound is told as what there is of it
 		{api.Rule{}, " :  ;"},
-		{rule(api.SFragment, "", seq()), "fragment  : () ;"},
-		{rule(4, "a", a), "a : A ;"},
-		{rule(255, "A", a), "A : A ;"},
-		{rule(api.SSkip, "a", b), "skip a : b ;"},
-		{rule(api.SParser, "A", lit("'")), `A : '\'' ;`},
-		{rule(api.SParser, "grammar", a), "grammar : A ;"},
-		{rule(api.SFragment, "\xff : \n%d", a), "fragment \xff : \n%d : A ;"},
-		{rule(api.SParser, strings.Repeat("a", 1000), seq(a)), strings.Repeat("a", 1000) + " : A ;"},
-		{rule(api.SToken, "A", pred(alts(a))), "A : (A) => ;"},
+		{Rule(api.SFragment, "", Seq()), "fragment  : () ;"},
+		{Rule(4, "a", a), "a : A ;"},
+		{Rule(255, "A", a), "A : A ;"},
+		{Rule(api.SSkip, "a", b), "skip a : b ;"},
+		{Rule(api.SParser, "A", Lit("'")), `A : '\'' ;`},
+		{Rule(api.SParser, "grammar", a), "grammar : A ;"},
+		{Rule(api.SFragment, "\xff : \n%d", a), "fragment \xff : \n%d : A ;"},
+		{Rule(api.SParser, strings.Repeat("a", 1000), Seq(a)), strings.Repeat("a", 1000) + " : A ;"},
+		{Rule(api.SToken, "A", Pred(Alts(a))), "A : (A) => ;"},
 	} {
 		if s := grams.Rule(k.r); s != k.want {
 			t.Errorf("Rule(%v): %q; want %q", k.r, s, k.want)
@@ -64,12 +52,12 @@ func TestRule(t *testing.T) {
 		if s := grams.Rule(r); s != k.want {
 			t.Errorf("Rule(%v): %q; want %q", r, s, k.want)
 		}
-		if s, want := grams.Print(grammar(r, k.r)), "grammar G;\noptions { bound = 2; states = 256; }\n"+k.want+"\n"+k.want+"\n"; s != want {
+		if s, want := grams.Print(Grammar(r, k.r)), "grammar G;\noptions { bound = 2; states = 256; }\n"+k.want+"\n"+k.want+"\n"; s != want {
 			t.Errorf("Print: %q; want %q", s, want)
 		}
 	}
-	for _, n := range rings() {
-		if s := grams.Rule(rule(api.SSkip, "A", n)); s != "skip A :  ;" {
+	for _, n := range Rings(Tok("A")) {
+		if s := grams.Rule(Rule(api.SSkip, "A", n)); s != "skip A :  ;" {
 			t.Errorf("Rule of one that never ends: %.100q", s)
 		}
 	}
@@ -82,9 +70,9 @@ func TestPrint(t *testing.T) {
 		g    api.Grammar
 		want string
 	}{
-		{grammar(), "grammar G;\noptions { bound = 2; states = 256; }\n"},
-		{grammar(rule(api.SParser, "a", star(tok("B"))), rule(api.SToken, "B", lit("b"))), "grammar G;\noptions { bound = 2; states = 256; }\na : B* ;\nB : 'b' ;\n"},
-		{api.Grammar{Name: "grammar", Options: api.Options{Bound: 8, States: 4096}, Rules: []api.Rule{rule(api.SFragment, "A", set('a', 'z')), rule(api.SSkip, "A", lit(" ")), rule(api.SParser, "b", seq())}},
+		{Grammar(), "grammar G;\noptions { bound = 2; states = 256; }\n"},
+		{Grammar(Rule(api.SParser, "a", Star(Tok("B"))), Rule(api.SToken, "B", Lit("b"))), "grammar G;\noptions { bound = 2; states = 256; }\na : B* ;\nB : 'b' ;\n"},
+		{api.Grammar{Name: "grammar", Options: api.Options{Bound: 8, States: 4096}, Rules: []api.Rule{Rule(api.SFragment, "A", Set('a', 'z')), Rule(api.SSkip, "A", Lit(" ")), Rule(api.SParser, "b", Seq())}},
 			"grammar grammar;\noptions { bound = 8; states = 4096; }\nfragment A : [a-z] ;\nskip A : ' ' ;\nb : () ;\n"},
 		{api.Grammar{Name: "a_1", Options: api.Options{Bound: 1, States: 1}}, "grammar a_1;\noptions { bound = 1; states = 1; }\n"},
 
@@ -92,16 +80,16 @@ func TestPrint(t *testing.T) {
 		{api.Grammar{}, "grammar ;\noptions { bound = 0; states = 0; }\n"},
 		{api.Grammar{Name: "\x00;", Options: api.Options{Bound: -1, States: -256}, Rules: make([]api.Rule, 1)}, "grammar \x00;;\noptions { bound = -1; states = -256; }\n :  ;\n"},
 		{api.Grammar{Options: api.Options{Bound: big, States: -big - 1}, Rules: []api.Rule{}}, "grammar ;\noptions { bound = 9223372036854775807; states = -9223372036854775808; }\n"},
-		{api.Grammar{Name: "G", Options: api.Options{Bound: 9, States: 4097}, Rules: []api.Rule{rule(api.SToken, "a", ref("b")), rule(77, "", tok("A"))}}, "grammar G;\noptions { bound = 9; states = 4097; }\na : b ;\n : A ;\n"},
+		{api.Grammar{Name: "G", Options: api.Options{Bound: 9, States: 4097}, Rules: []api.Rule{Rule(api.SToken, "a", Ref("b")), Rule(77, "", Tok("A"))}}, "grammar G;\noptions { bound = 9; states = 4097; }\na : b ;\n : A ;\n"},
 	} {
 		if s := grams.Print(k.g); s != k.want {
 			t.Errorf("Print(%v): %q; want %q", k.g, s, k.want)
 		}
 	}
-	many := grammar()
+	many := Grammar()
 	want := grams.Print(many)
 	for range 3 * api.MaxRules {
-		many.Rules = append(many.Rules, rule(api.SParser, "a", seq(tok("A"), ref("b"))))
+		many.Rules = append(many.Rules, Rule(api.SParser, "a", Seq(Tok("A"), Ref("b"))))
 		want += "a : A b ;\n"
 	}
 	if s := grams.Print(many); s != want {
@@ -112,7 +100,7 @@ func TestPrint(t *testing.T) {
 // P4.3: names of grammars and of rules.
 func TestSoundNames(t *testing.T) {
 	sound := func(name string, sort api.Sort) bool {
-		return grams.Sound(grammar(rule(sort, name, seq())))
+		return grams.Sound(Grammar(Rule(sort, name, Seq())))
 	}
 	for _, k := range []struct {
 		name      string
@@ -126,7 +114,7 @@ func TestSoundNames(t *testing.T) {
 		{"", false, false, false}, {"_", false, false, false}, {"_a", false, false, false}, {"1", false, false, false}, {"9A", false, false, false}, {" a", false, false, false}, {"a ", false, false, false}, {"a b", false, false, false}, {"a-b", false, false, false},
 		{"a\x00", false, false, false}, {"A\xff", false, false, false}, {"\u00e9", false, false, false}, {"a\u00e9", false, false, false}, {"\u00c9", false, false, false}, {"a.", false, false, false}, {"'a'", false, false, false}, {"a;", false, false, false}, {"@", false, false, false}, {"[", false, false, false}, {"`", false, false, false}, {"{", false, false, false}, {"a/", false, false, false}, {"a:", false, false, false},
 	} {
-		g := grammar(rule(api.SParser, "a", seq()))
+		g := Grammar(Rule(api.SParser, "a", Seq()))
 		g.Name = k.name
 		if grams.Sound(g) != k.is {
 			t.Errorf("Sound of a grammar by the name %q: %t", k.name, !k.is)
@@ -145,7 +133,7 @@ func TestSoundOptions(t *testing.T) {
 	numbers := []int{-1 << 63, -1 << 32, -256, -8, -1, 0, 1, 2, 7, 8, 9, 255, 256, 257, 4095, 4096, 4097, 1<<32 + 1, 1<<63 - 1}
 	for _, bound := range numbers {
 		for _, states := range numbers {
-			g := grammar(rule(api.SParser, "a", seq()))
+			g := Grammar(Rule(api.SParser, "a", Seq()))
 			g.Options = api.Options{Bound: bound, States: states}
 			if want := bound >= 1 && bound <= 8 && states >= 1 && states <= 4096; grams.Sound(g) != want {
 				t.Errorf("Sound with %v: %t", g.Options, !want)
@@ -156,22 +144,22 @@ func TestSoundOptions(t *testing.T) {
 
 // P4.3: how many rules, and that each of them counts.
 func TestSoundRules(t *testing.T) {
-	g := grammar()
+	g := Grammar()
 	if !grams.Sound(g) || !grams.Sound(api.Grammar{Name: "g", Options: g.Options, Rules: []api.Rule{}}) || grams.Sound(api.Grammar{}) {
 		t.Error("of no rules")
 	}
 	for count := 1; count <= 2*api.MaxRules; count++ {
-		g.Rules = append(g.Rules, rule(api.SParser, "a", star(tok("A")))) // that they have one name does not matter here
+		g.Rules = append(g.Rules, Rule(api.SParser, "a", Star(Tok("A")))) // that they have one name does not matter here
 		if want := count <= api.MaxRules; grams.Sound(g) != want {
 			t.Errorf("Sound of %d rules: %t", count, !want)
 		}
 	}
 	for _, count := range []int{1, 2, 5, api.MaxRules} {
 		for at := range count {
-			for i, bad := range []api.Rule{{}, rule(api.SParser, "A", seq()), rule(api.SToken, "A", ref("a")), rule(4, "A", seq()), rule(api.SParser, "a", seq(tok("A"))), rule(api.SParser, "skip", seq())} {
-				g := grammar()
+			for i, bad := range []api.Rule{{}, Rule(api.SParser, "A", Seq()), Rule(api.SToken, "A", Ref("a")), Rule(4, "A", Seq()), Rule(api.SParser, "a", Seq(Tok("A"))), Rule(api.SParser, "skip", Seq())} {
+				g := Grammar()
 				for range count {
-					g.Rules = append(g.Rules, rule(api.SSkip, "A", seq()))
+					g.Rules = append(g.Rules, Rule(api.SSkip, "A", Seq()))
 				}
 				g.Rules[at] = bad
 				if grams.Sound(g) {
@@ -184,16 +172,16 @@ func TestSoundRules(t *testing.T) {
 
 // P4.3: bodies, which are plain for the sort of their rule.
 func TestSoundBodies(t *testing.T) {
-	a := tok("A")
+	a := Tok("A")
 	deep := func(levels int) api.Node {
 		n := a
 		for range levels - 1 {
-			n = opt(n)
+			n = Opt(n)
 		}
 		return n
 	}
 	many := func(k api.Kind, count int) api.Node {
-		n := node(k)
+		n := Node(k)
 		for range count {
 			n.Subs = append(n.Subs, a)
 		}
@@ -203,11 +191,11 @@ func TestSoundBodies(t *testing.T) {
 		n             api.Node
 		parser, other bool
 	}{
-		{a, true, true}, {seq(), true, true}, {seq(a, star(a)), true, true}, {alts(a, seq()), true, true}, {ref("a"), true, false}, {ref("skip"), true, false}, {pred(a), true, false}, {seq(pred(a), a), true, false}, {alts(a, opt(ref("b"))), true, false},
-		{lit("a"), false, true}, {set('a', 'b'), false, true}, {alts(a, plus(lit("\n"))), false, true}, {set(below, above), false, true}, {set('b', 'b', 'a', 'z'), false, true},
-		{api.Node{}, false, false}, {seq(a), false, false}, {alts(a), false, false}, {node(api.KStar), false, false}, {node(api.KOpt, a, a), false, false}, {node(api.KPred), false, false}, {seq(a, pred(a)), false, false}, {seq(pred(a), pred(a)), false, false}, {alts(a, seq(a, pred(a))), false, false},
-		{ref("A"), false, false}, {tok("a"), false, false}, {tok(""), false, false}, {tok(strings.Repeat("A", api.MaxName+1)), false, false}, {lit(""), false, false}, {lit("\xff"), false, false}, {set(), false, false}, {set('b', 'a'), false, false}, {set(below+1, above), false, false}, {set('a', last+1), false, false}, {set(-1, 'a'), false, false},
-		{api.Node{Kind: api.KTok, Name: "A", Text: "x"}, false, false}, {api.Node{Kind: api.KSeq, Name: "A"}, false, false}, {node(api.KTok, a), false, false}, {node(api.KSet + 1), false, false}, {node(255, a, a), false, false},
+		{a, true, true}, {Seq(), true, true}, {Seq(a, Star(a)), true, true}, {Alts(a, Seq()), true, true}, {Ref("a"), true, false}, {Ref("skip"), true, false}, {Pred(a), true, false}, {Seq(Pred(a), a), true, false}, {Alts(a, Opt(Ref("b"))), true, false},
+		{Lit("a"), false, true}, {Set('a', 'b'), false, true}, {Alts(a, Plus(Lit("\n"))), false, true}, {Set(below, above), false, true}, {Set('b', 'b', 'a', 'z'), false, true},
+		{api.Node{}, false, false}, {Seq(a), false, false}, {Alts(a), false, false}, {Node(api.KStar), false, false}, {Node(api.KOpt, a, a), false, false}, {Node(api.KPred), false, false}, {Seq(a, Pred(a)), false, false}, {Seq(Pred(a), Pred(a)), false, false}, {Alts(a, Seq(a, Pred(a))), false, false},
+		{Ref("A"), false, false}, {Tok("a"), false, false}, {Tok(""), false, false}, {Tok(strings.Repeat("A", api.MaxName+1)), false, false}, {Lit(""), false, false}, {Lit("\xff"), false, false}, {Set(), false, false}, {Set('b', 'a'), false, false}, {Set(below+1, above), false, false}, {Set('a', last+1), false, false}, {Set(-1, 'a'), false, false},
+		{api.Node{Kind: api.KTok, Name: "A", Text: "x"}, false, false}, {api.Node{Kind: api.KSeq, Name: "A"}, false, false}, {Node(api.KTok, a), false, false}, {Node(api.KSet + 1), false, false}, {Node(255, a, a), false, false},
 		{deep(api.MaxDeep), true, true}, {deep(api.MaxDeep + 1), false, false}, {many(api.KAlts, api.MaxAlts), true, true}, {many(api.KAlts, api.MaxAlts+1), false, false}, {many(api.KSeq, api.MaxNodes-1), true, true}, {many(api.KSeq, api.MaxNodes), false, false},
 	} {
 		for _, sort := range []api.Sort{api.SParser, api.SToken, api.SFragment, api.SSkip} {
@@ -215,19 +203,19 @@ func TestSoundBodies(t *testing.T) {
 			if sort == api.SParser {
 				name, want = "a", k.parser
 			}
-			r := rule(sort, name, k.n)
-			if grams.Sound(grammar(r)) != want {
+			r := Rule(sort, name, k.n)
+			if grams.Sound(Grammar(r)) != want {
 				t.Errorf("Sound of %.100v: %t", r, !want)
 			}
 			r.At = api.Pos{At: -1, Line: 0, Col: -5} // places do not matter
-			if grams.Sound(grammar(rule(api.SToken, "B", lit("b")), r)) != want {
+			if grams.Sound(Grammar(Rule(api.SToken, "B", Lit("b")), r)) != want {
 				t.Errorf("Sound of another one, and %.100v: %t", r, !want)
 			}
 		}
 	}
-	for _, n := range rings() {
+	for _, n := range Rings(Tok("A")) {
 		for sort := range api.Sort(5) {
-			if grams.Sound(grammar(rule(sort, "a", n))) || grams.Sound(grammar(rule(sort, "A", n))) {
+			if grams.Sound(Grammar(Rule(sort, "a", n))) || grams.Sound(Grammar(Rule(sort, "A", n))) {
 				t.Errorf("one that never ends is sound")
 			}
 		}
@@ -255,44 +243,14 @@ func again(t *testing.T, g api.Grammar) {
 	}
 }
 
-// grown are all nodes of leaves and of kinds with Subs, by how many they are: the i-th list has those of i.
-func grown(most int, leaves []api.Node) [][]api.Node {
-	all := make([][]api.Node, most+1)
-	all[1] = leaves
-	for count := 2; count <= most; count++ {
-		for k := api.KAlts; k <= api.KPred; k++ {
-			for _, subs := range rows(count-1, all) {
-				all[count] = append(all[count], node(k, subs...))
-			}
-		}
-	}
-	return all
-}
-
-// rows are all lists of nodes that are so many together.
-func rows(count int, all [][]api.Node) [][]api.Node {
-	if count == 0 {
-		return [][]api.Node{nil}
-	}
-	var out [][]api.Node
-	for first := 1; first <= count; first++ {
-		for _, rest := range rows(count-first, all) {
-			for _, n := range all[first] {
-				out = append(out, append([]api.Node{n}, rest...))
-			}
-		}
-	}
-	return out
-}
-
 // hard are leaves whose texts go wrong most easily.
 func hard() []api.Node {
-	l := []api.Node{seq(), tok("A")}
+	l := []api.Node{Seq(), Tok("A")}
 	for _, s := range []string{"a", "a' 'a", "a'", "'", "''", "\\", "\\'", "n", "\n", "\r\t", "\\n", "u{41}", "\\u{41}", "\u00e9", "\x00\x7f", "\u0080\u2028\ufeff\U0010ffff", "()", "// /*", " ", "] ;", "=>", "..", "\ufffd"} {
-		l = append(l, lit(s))
+		l = append(l, Lit(s))
 	}
 	for _, ends := range [][]rune{{'a', 'c'}, {'a', 'b', 'c', 'c'}, {'a', 'a', '-', '-', 'c', 'c'}, {'-', '-'}, {'\\', '\\', '-', '-'}, {'\\', '-'}, {'-', '-', 'a', 'a'}, {'a', 'a', '-', '-'}, {'a', 'a', 'a', 'a'}, {']', ']'}, {'[', ']'}, {'^', '^', '\'', '\''}, {'\n', '\n', ' ', ' '}, {0, last}, {0, below, above, last}, {below, above}, {'b', 'd', 'a', 'c'}} {
-		l = append(l, set(ends...))
+		l = append(l, Set(ends...))
 	}
 	return l
 }
@@ -305,22 +263,22 @@ func TestPrintedIsRead(t *testing.T) {
 		leaves []api.Node
 		least  int // of plain ones
 	}{
-		{5, false, []api.Node{tok("A"), ref("b"), seq()}, 4000},
-		{6, false, []api.Node{tok("A"), seq()}, 13000},
-		{5, true, []api.Node{lit("a"), set('a', 'a'), seq()}, 2500},
+		{5, false, []api.Node{Tok("A"), Ref("b"), Seq()}, 4000},
+		{6, false, []api.Node{Tok("A"), Seq()}, 13000},
+		{5, true, []api.Node{Lit("a"), Set('a', 'a'), Seq()}, 2500},
 		{3, true, hard(), 3000},
 	} {
-		g := grammar()
+		g := Grammar()
 		plain := 0
-		for _, l := range grown(k.most, k.leaves) {
+		for _, l := range Grown(k.most, Kinds(api.KAlts, api.KPred), k.leaves) {
 			for _, n := range l {
 				if !nodes.Plain(n, k.token) {
 					continue
 				}
 				plain++
-				r := rule(api.SParser, "a", n)
+				r := Rule(api.SParser, "a", n)
 				if k.token {
-					r = rule(api.Sort(1+plain%3), "A", n)
+					r = Rule(api.Sort(1+plain%3), "A", n)
 				}
 				if g.Rules = append(g.Rules, r); len(g.Rules) == api.MaxRules {
 					again(t, g)
@@ -349,22 +307,22 @@ func TestPrintedGrammarIsRead(t *testing.T) {
 		}
 	}
 	for _, name := range []string{"grammar", "options", "fragment", "skip", "bound", "states"} {
-		again(t, grammar(rule(api.SParser, "a", ref(name)), rule(api.SParser, "b", alts(seq(pred(ref(name)), ref(name)), opt(ref(name)), seq()))))
+		again(t, Grammar(Rule(api.SParser, "a", Ref(name)), Rule(api.SParser, "b", Alts(Seq(Pred(Ref(name)), Ref(name)), Opt(Ref(name)), Seq()))))
 	}
 	deep, wide, long := fine(t, head+"a : "+deep(api.MaxDeep)+" ;"), fine(t, head+"skip A : "+wide(api.MaxAlts)+" ;"), fine(t, head+"A : "+long(api.MaxNodes)+";")
 	again(t, deep)
 	again(t, wide)
 	again(t, long)
-	again(t, grammar(deep.Rules[0], wide.Rules[0], long.Rules[0], deep.Rules[0]))
+	again(t, Grammar(deep.Rules[0], wide.Rules[0], long.Rules[0], deep.Rules[0]))
 }
 
 // P4.4: a grammar of which just as much is printed as a text may have; of one byte more none can be read.
 func TestPrintedIsLong(t *testing.T) {
-	g := grammar(rule(api.SToken, "A", lit("x")))
+	g := Grammar(Rule(api.SToken, "A", Lit("x")))
 	room := api.MaxText - len(grams.Print(g)) + 1
-	g.Rules[0].Body = lit(strings.Repeat("x", room))
+	g.Rules[0].Body = Lit(strings.Repeat("x", room))
 	again(t, g)
-	g.Rules[0].Body = lit(strings.Repeat("x", room+1))
+	g.Rules[0].Body = Lit(strings.Repeat("x", room+1))
 	if !grams.Sound(g) {
 		t.Error("not sound, for its length")
 	}
@@ -467,13 +425,13 @@ func TestPrintedIsApart(t *testing.T) {
 // grammars are sound ones and others; each call makes them anew.
 func grammars(t *testing.T) []api.Grammar {
 	t.Helper()
-	full := api.Node{Name: "a", Text: "b", Set: []api.Range{{Low: 'c', High: 'd'}}, Subs: []api.Node{tok("A"), set('a', 'b')}}
-	l := []api.Grammar{fine(t, sample), {}, grammar(), {Name: "\xff", Options: api.Options{Bound: -1, States: 5000}, Rules: make([]api.Rule, 3, 10)}}
+	full := api.Node{Name: "a", Text: "b", Set: []api.Range{{Low: 'c', High: 'd'}}, Subs: []api.Node{Tok("A"), Set('a', 'b')}}
+	l := []api.Grammar{fine(t, sample), {}, Grammar(), {Name: "\xff", Options: api.Options{Bound: -1, States: 5000}, Rules: make([]api.Rule, 3, 10)}}
 	for k := api.KAlts; k <= api.KSet+1; k++ {
 		n := full
 		n.Kind, n.Set = k, append(make([]api.Range, 0, 5), full.Set...)
-		n.Subs = append(make([]api.Node, 0, 5), tok("A"), star(lit("x")))
-		l = append(l, grammar(rule(api.Sort(k), "a", n)), grammar(rule(api.Sort(k), "A", node(k))))
+		n.Subs = append(make([]api.Node, 0, 5), Tok("A"), Star(Lit("x")))
+		l = append(l, Grammar(Rule(api.Sort(k), "a", n)), Grammar(Rule(api.Sort(k), "A", Node(k))))
 	}
 	return l
 }

@@ -9,6 +9,7 @@ import (
 
 	"harbinger/api"
 	"harbinger/grams"
+	. "harbinger/made"
 	"harbinger/nodes"
 	"harbinger/runes"
 	"harbinger/scans"
@@ -118,11 +119,11 @@ func flat(items []item) api.Node {
 			i++
 			from, _ := utf8.DecodeRuneInString((*row)[len(*row)-1].Text)
 			to, _ := utf8.DecodeRuneInString(items[i].word[1:])
-			(*row)[len(*row)-1] = set(from, to)
+			(*row)[len(*row)-1] = Set(from, to)
 			continue
 		case w == "?" || w == "*" || w == "+" || w == "=>":
 			k := map[string]api.Kind{"?": api.KOpt, "*": api.KStar, "+": api.KPlus, "=>": api.KPred}[w]
-			(*row)[len(*row)-1] = node(k, (*row)[len(*row)-1])
+			(*row)[len(*row)-1] = Node(k, (*row)[len(*row)-1])
 			continue
 		case w == "~":
 			i++
@@ -134,7 +135,7 @@ func flat(items []item) api.Node {
 		if len(l) == 1 {
 			return l[0]
 		}
-		return node(k, l...)
+		return Node(k, l...)
 	}
 	var l []api.Node
 	for _, row := range choice {
@@ -149,19 +150,19 @@ func leaf(w string, n api.Node) api.Node {
 	case w == "":
 		return n
 	case w == ".":
-		return set(0, below, above, last)
+		return Set(0, below, above, last)
 	case w == "[s]":
-		return set('s', 's')
+		return Set('s', 's')
 	case w == "~[s]":
-		return set(0, 's'-1, 's'+1, below, above, last)
+		return Set(0, 's'-1, 's'+1, below, above, last)
 	case w == all:
-		return set(0, last)
+		return Set(0, last)
 	case w[0] == '\'':
-		return lit(strings.Trim(w, "'"))
+		return Lit(strings.Trim(w, "'"))
 	case w[0] <= 'Z':
-		return tok(w)
+		return Tok(w)
 	}
-	return ref(w)
+	return Ref(w)
 }
 
 // P4.1: all bodies of few words, held against what the chapter's words tell of them: which word may not stand, or which node they are.
@@ -204,9 +205,9 @@ func TestBodiesOfFewWords(t *testing.T) {
 // standing looks whether a body's words, of which at most the last one may not stand, are told as what they are.
 func standing(t *testing.T, words []string, next int, token bool) {
 	t.Helper()
-	r := rule(api.SParser, "a", api.Node{})
+	r := Rule(api.SParser, "a", api.Node{})
 	if token {
-		r = rule(api.Sort(1+len(words)%3), "A", api.Node{})
+		r = Rule(api.Sort(1+len(words)%3), "A", api.Node{})
 	}
 	s := head + [...]string{"a : ", "A : ", "fragment A : ", "skip A : "}[r.Sort] + strings.Join(words, " ")
 	g, fault := grams.Read(s)
@@ -217,7 +218,7 @@ func standing(t *testing.T, words []string, next int, token bool) {
 	case ended:
 		r.Body = made(words[:len(words)-1])
 		if nodes.Plain(r.Body, token) {
-			if !same(g, grammar(r)) || fault != (scans.Fault{}) {
+			if !same(g, Grammar(r)) || fault != (scans.Fault{}) {
 				t.Fatalf("Read(%q): fault %v, %v; want %v", s, fault, g, r.Body)
 			}
 			return
@@ -275,7 +276,7 @@ func followed(at, w string) string {
 
 // worded is the grammar of words that are one, whose bodies are empty.
 func worded(words []string) api.Grammar {
-	g := grammar()
+	g := Grammar()
 	g.Name = words[1]
 	for i, w := range words {
 		switch {
@@ -284,13 +285,13 @@ func worded(words []string) api.Grammar {
 		case w == "=":
 			g.Options.States = int(words[i+1][0] - '0')
 		case w == ":" && words[i-2] == "fragment":
-			g.Rules = append(g.Rules, rule(api.SFragment, words[i-1], seq()))
+			g.Rules = append(g.Rules, Rule(api.SFragment, words[i-1], Seq()))
 		case w == ":" && words[i-2] == "skip":
-			g.Rules = append(g.Rules, rule(api.SSkip, words[i-1], seq()))
+			g.Rules = append(g.Rules, Rule(api.SSkip, words[i-1], Seq()))
 		case w == ":" && words[i-1] < "a":
-			g.Rules = append(g.Rules, rule(api.SToken, words[i-1], seq()))
+			g.Rules = append(g.Rules, Rule(api.SToken, words[i-1], Seq()))
 		case w == ":":
-			g.Rules = append(g.Rules, rule(api.SParser, words[i-1], seq()))
+			g.Rules = append(g.Rules, Rule(api.SParser, words[i-1], Seq()))
 		}
 	}
 	return g

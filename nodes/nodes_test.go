@@ -10,35 +10,12 @@ import (
 	"unsafe"
 
 	"harbinger/api"
+	. "harbinger/made"
 	"harbinger/nodes"
 )
 
 // last is the greatest number that is a rune's.
 const last = 0x10ffff
-
-// node has no list where it has no Subs.
-func node(k api.Kind, subs ...api.Node) api.Node {
-	return api.Node{Kind: k, Subs: subs}
-}
-
-func alts(subs ...api.Node) api.Node { return node(api.KAlts, subs...) }
-func seq(subs ...api.Node) api.Node  { return node(api.KSeq, subs...) }
-func opt(n api.Node) api.Node        { return node(api.KOpt, n) }
-func star(n api.Node) api.Node       { return node(api.KStar, n) }
-func plus(n api.Node) api.Node       { return node(api.KPlus, n) }
-func pred(n api.Node) api.Node       { return node(api.KPred, n) }
-func ref(name string) api.Node       { return api.Node{Kind: api.KRef, Name: name} }
-func tok(name string) api.Node       { return api.Node{Kind: api.KTok, Name: name} }
-func lit(text string) api.Node       { return api.Node{Kind: api.KLit, Text: text} }
-
-// set is of pairs: where a range begins, and where it ends.
-func set(ends ...rune) api.Node {
-	n := api.Node{Kind: api.KSet}
-	for ; len(ends) > 0; ends = ends[2:] {
-		n.Set = append(n.Set, api.Range{Low: ends[0], High: ends[1]})
-	}
-	return n
-}
 
 // with has more Subs than a node of its kind is made with.
 func with(n api.Node, subs ...api.Node) api.Node {
@@ -50,46 +27,25 @@ func many(count int, n api.Node) []api.Node {
 	return slices.Repeat([]api.Node{n}, count)
 }
 
-// chain is so many nodes, each within the one ahead of it, and a leaf.
-func chain(above int, k api.Kind, leaf api.Node) api.Node {
-	for range above {
-		leaf = node(k, leaf)
-	}
-	return leaf
-}
-
-// rings are nodes that are within themselves.
-func rings() []api.Node {
-	var all []api.Node
-	for k := api.KAlts; k <= api.KSet+1; k++ {
-		one := node(k, tok("A"))
-		one.Subs[0] = one
-		two := node(k, node(api.KSeq, tok("A"), tok("B")), tok("C"), tok("D"))
-		two.Subs[0].Subs[1], two.Subs[1], two.Subs[2] = two, two, two
-		all = append(all, one, two, with(star(tok("A")), one))
-	}
-	return all
-}
-
 // example is the chapter's.
 func example() api.Node {
-	return alts(tok("A"), seq(star(alts(tok("B"), tok("C"))), ref("d")))
+	return Alts(Tok("A"), Seq(Star(Alts(Tok("B"), Tok("C"))), Ref("d")))
 }
 
 // samples are nodes of each kind, plain ones and others, with whatever a node can have; each call makes them anew.
 func samples() []api.Node {
-	full := api.Node{Name: "a", Text: "b", Set: []api.Range{{Low: 'c', High: 'd'}}, Subs: []api.Node{tok("A"), set('a', 'b')}}
+	full := api.Node{Name: "a", Text: "b", Set: []api.Range{{Low: 'c', High: 'd'}}, Subs: []api.Node{Tok("A"), Set('a', 'b')}}
 	l := []api.Node{
-		example(), {}, full, seq(), opt(tok("A")), plus(set('a', 'a', 'c', 'e')), lit("it's"), pred(seq(tok("A"), ref("a"))),
-		seq(pred(tok("A")), tok("B"), alts(tok("C"), seq())), alts(lit("a"), lit("b"), set('a', 'z', '0', '9')), star(star(plus(lit("\u20ac")))),
+		example(), {}, full, Seq(), Opt(Tok("A")), Plus(Set('a', 'a', 'c', 'e')), Lit("it's"), Pred(Seq(Tok("A"), Ref("a"))),
+		Seq(Pred(Tok("A")), Tok("B"), Alts(Tok("C"), Seq())), Alts(Lit("a"), Lit("b"), Set('a', 'z', '0', '9')), Star(Star(Plus(Lit("\u20ac")))),
 		{Set: []api.Range{}}, {Subs: []api.Node{}}, {Kind: api.KLit, Text: "\xff"}, {Kind: api.KSet, Set: []api.Range{{Low: 1, High: 0}}},
 	}
 	for k := api.KAlts; k <= api.KSet+1; k++ {
 		n := full
 		n.Kind = k
-		l = append(l, node(k), n, with(n, n, n))
+		l = append(l, Node(k), n, with(n, n, n))
 	}
-	l = append(l, node(255, tok("A")), chain(70, api.KOpt, full))
+	l = append(l, Node(255, Tok("A")), Chain(70, api.KOpt, full))
 	for i, n := range l {
 		l[i] = twin(n) // no two of them share memory
 	}
@@ -120,25 +76,25 @@ func TestCountAndDeep(t *testing.T) {
 		count, deep int
 	}{
 		{api.Node{}, 1, 1},
-		{seq(), 1, 1},
-		{tok("A"), 1, 1},
-		{ref("a"), 1, 1},
-		{lit("abc"), 1, 1},
-		{set('a', 'z', '0', '9'), 1, 1},
-		{node(255), 1, 1},
-		{opt(tok("A")), 2, 2},
-		{star(plus(pred(tok("A")))), 4, 4},
-		{seq(tok("A"), tok("B")), 3, 2},
-		{alts(tok("A"), tok("B"), tok("C")), 4, 2},
-		{alts(opt(opt(tok("A"))), tok("B")), 5, 4},
-		{alts(tok("B"), opt(opt(tok("A")))), 5, 4},
-		{alts(tok("B"), opt(opt(tok("A"))), opt(tok("C"))), 7, 4},
-		{alts(many(3, seq(many(5, opt(tok("A")))...))...), 34, 4},
-		{with(tok("A"), tok("B"), opt(seq())), 4, 3},     // what a kind should not have counts all the same
-		{with(node(77, seq()), node(99, seq())), 4, 3},   // likewise of what is no kind
+		{Seq(), 1, 1},
+		{Tok("A"), 1, 1},
+		{Ref("a"), 1, 1},
+		{Lit("abc"), 1, 1},
+		{Set('a', 'z', '0', '9'), 1, 1},
+		{Node(255), 1, 1},
+		{Opt(Tok("A")), 2, 2},
+		{Star(Plus(Pred(Tok("A")))), 4, 4},
+		{Seq(Tok("A"), Tok("B")), 3, 2},
+		{Alts(Tok("A"), Tok("B"), Tok("C")), 4, 2},
+		{Alts(Opt(Opt(Tok("A"))), Tok("B")), 5, 4},
+		{Alts(Tok("B"), Opt(Opt(Tok("A")))), 5, 4},
+		{Alts(Tok("B"), Opt(Opt(Tok("A"))), Opt(Tok("C"))), 7, 4},
+		{Alts(many(3, Seq(many(5, Opt(Tok("A")))...))...), 34, 4},
+		{with(Tok("A"), Tok("B"), Opt(Seq())), 4, 3},     // what a kind should not have counts all the same
+		{with(Node(77, Seq()), Node(99, Seq())), 4, 3},   // likewise of what is no kind
 		{api.Node{Subs: make([]api.Node, 0, 5)}, 1, 1},   // what lies in the room behind does not
-		{alts(many(100000, tok("A"))...), 100001, 2},     // more than may be plain
-		{chain(65535, api.KOpt, tok("A")), 65536, 65536}, // as deep as anything is promised of
+		{Alts(many(100000, Tok("A"))...), 100001, 2},     // more than may be plain
+		{Chain(65535, api.KOpt, Tok("A")), 65536, 65536}, // as deep as anything is promised of
 	} {
 		if count, deep := nodes.Count(k.n), nodes.Deep(k.n); count != k.count || deep != k.deep {
 			t.Errorf("%.200s: %d, %d; want %d, %d", nodes.Text(k.n), count, deep, k.count, k.deep)
@@ -148,7 +104,7 @@ func TestCountAndDeep(t *testing.T) {
 
 // P3.1: each of these is another one, if only by one thing.
 func TestSame(t *testing.T) {
-	a := api.Node{Kind: api.KLit, Name: "a", Text: "b", Set: []api.Range{{Low: 1, High: 2}, {Low: 3, High: 4}}, Subs: []api.Node{tok("A"), seq(tok("B"), opt(tok("C")))}}
+	a := api.Node{Kind: api.KLit, Name: "a", Text: "b", Set: []api.Range{{Low: 1, High: 2}, {Low: 3, High: 4}}, Subs: []api.Node{Tok("A"), Seq(Tok("B"), Opt(Tok("C")))}}
 	all := []api.Node{a, {}}
 	for _, change := range []func(n *api.Node){
 		func(n *api.Node) { n.Kind = api.KSet },
@@ -191,11 +147,11 @@ func TestSame(t *testing.T) {
 	if !nodes.Same(api.Node{}, api.Node{Set: []api.Range{}, Subs: make([]api.Node, 0, 3)}) || !nodes.Same(api.Node{Set: []api.Range{}, Subs: make([]api.Node, 0, 3)}, api.Node{}) {
 		t.Error("a list of none is not as one that is not there")
 	}
-	if nodes.Same(seq(seq(tok("A")), tok("B")), seq(seq(tok("A"), tok("B")))) || nodes.Same(set('a', 'c'), set('a', 'b', 'c', 'c')) {
+	if nodes.Same(Seq(Seq(Tok("A")), Tok("B")), Seq(Seq(Tok("A"), Tok("B")))) || nodes.Same(Set('a', 'c'), Set('a', 'b', 'c', 'c')) {
 		t.Error("nodes that have as many in all, or the same runes, are not the same for that")
 	}
-	long, other := chain(65535, api.KOpt, tok("A")), chain(65535, api.KOpt, tok("B"))
-	if !nodes.Same(long, twin(long)) || nodes.Same(long, other) || nodes.Same(long, chain(65534, api.KOpt, tok("A"))) {
+	long, other := Chain(65535, api.KOpt, Tok("A")), Chain(65535, api.KOpt, Tok("B"))
+	if !nodes.Same(long, twin(long)) || nodes.Same(long, other) || nodes.Same(long, Chain(65534, api.KOpt, Tok("A"))) {
 		t.Error("deep ones")
 	}
 }
@@ -235,7 +191,7 @@ func held(t *testing.T, n api.Node, want int) {
 
 // P3.2: how many Subs a kind has.
 func TestPlainSubs(t *testing.T) {
-	a := tok("A")
+	a := Tok("A")
 	for k, want := range map[api.Kind][4]int{ // with none, one, two, three
 		api.KAlts:    {none, none, both, both},
 		api.KSeq:     {both, none, both, both},
@@ -252,16 +208,16 @@ func TestPlainSubs(t *testing.T) {
 		255:          {none, none, none, none},
 	} {
 		for count, want := range want {
-			n := node(k, many(count, a)...)
+			n := Node(k, many(count, a)...)
 			held(t, n, want)
-			held(t, opt(n), want)
-			held(t, alts(a, n), want)
+			held(t, Opt(n), want)
+			held(t, Alts(a, n), want)
 		}
 	}
-	for _, n := range []api.Node{with(ref("a"), a), with(tok("A"), a), with(lit("a"), a), with(set('a', 'a'), a), with(tok("A"), seq()), with(opt(seq()), seq())} {
+	for _, n := range []api.Node{with(Ref("a"), a), with(Tok("A"), a), with(Lit("a"), a), with(Set('a', 'a'), a), with(Tok("A"), Seq()), with(Opt(Seq()), Seq())} {
 		held(t, n, none)
 	}
-	for _, n := range []api.Node{opt(seq()), seq(seq(), seq()), seq(seq(a, a), a), alts(alts(a, a), seq()), star(plus(opt(star(a))))} {
+	for _, n := range []api.Node{Opt(Seq()), Seq(Seq(), Seq()), Seq(Seq(a, a), a), Alts(Alts(a, a), Seq()), Star(Plus(Opt(Star(a))))} {
 		held(t, n, both)
 	}
 }
@@ -272,96 +228,98 @@ func TestPlainSorts(t *testing.T) {
 		n    api.Node
 		want int
 	}{
-		{tok("A"), both},
-		{ref("a"), parser},
-		{lit("a"), token},
-		{set('a', 'a'), token},
-		{pred(tok("A")), parser},
-		{alts(ref("a"), lit("a")), none},
-		{seq(pred(tok("A")), set('a', 'a')), none},
+		{Tok("A"), both},
+		{Ref("a"), parser},
+		{Lit("a"), token},
+		{Set('a', 'a'), token},
+		{Pred(Tok("A")), parser},
+		{Alts(Ref("a"), Lit("a")), none},
+		{Seq(Pred(Tok("A")), Set('a', 'a')), none},
 	} {
 		held(t, k.n, k.want)
 		for _, f := range []func(n api.Node) api.Node{
-			opt, star, plus,
-			func(n api.Node) api.Node { return alts(n, tok("B")) },
-			func(n api.Node) api.Node { return alts(tok("B"), n) },
-			func(n api.Node) api.Node { return seq(n, tok("B")) },
-			func(n api.Node) api.Node { return opt(alts(tok("B"), star(opt(n)))) },
+			func(n api.Node) api.Node { return Opt(n) },
+			func(n api.Node) api.Node { return Star(n) },
+			func(n api.Node) api.Node { return Plus(n) },
+			func(n api.Node) api.Node { return Alts(n, Tok("B")) },
+			func(n api.Node) api.Node { return Alts(Tok("B"), n) },
+			func(n api.Node) api.Node { return Seq(n, Tok("B")) },
+			func(n api.Node) api.Node { return Opt(Alts(Tok("B"), Star(Opt(n)))) },
 		} {
 			held(t, f(k.n), k.want)
 		}
-		held(t, pred(k.n), k.want&parser)
+		held(t, Pred(k.n), k.want&parser)
 	}
 }
 
 // P3.2: where a KPred may be.
 func TestPlainPred(t *testing.T) {
-	a, p := tok("A"), pred(tok("B"))
+	a, p := Tok("A"), Pred(Tok("B"))
 	for _, n := range []api.Node{
-		p, pred(p), opt(p), star(p), plus(p), alts(p, a), alts(a, p), alts(p, p), alts(a, p, a), seq(p, a), seq(p, a, a), seq(p, seq()), pred(seq()),
-		seq(seq(p, a), a), seq(a, seq(p, a)), seq(p, opt(p)), seq(a, opt(p)), seq(a, alts(a, p)), pred(seq(p, a)), pred(alts(p, p)), opt(pred(star(p))),
+		p, Pred(p), Opt(p), Star(p), Plus(p), Alts(p, a), Alts(a, p), Alts(p, p), Alts(a, p, a), Seq(p, a), Seq(p, a, a), Seq(p, Seq()), Pred(Seq()),
+		Seq(Seq(p, a), a), Seq(a, Seq(p, a)), Seq(p, Opt(p)), Seq(a, Opt(p)), Seq(a, Alts(a, p)), Pred(Seq(p, a)), Pred(Alts(p, p)), Opt(Pred(Star(p))),
 	} {
 		held(t, n, parser)
-		held(t, opt(n), parser)
-		held(t, pred(n), parser)
+		held(t, Opt(n), parser)
+		held(t, Pred(n), parser)
 	}
 	for _, n := range []api.Node{
-		seq(a, p), seq(p, p), seq(p, p, a), seq(a, a, p), seq(p, a, p), seq(p), with(p, a), with(p, p), with(opt(p), p), with(star(p), a), with(plus(p), p), node(api.KPred),
-		with(a, p), with(ref("a"), p), node(api.KSet+1, p), node(api.KSet + 1), pred(seq(a, p)), seq(p, opt(seq(a, p))), alts(p, seq(a, a, p)), opt(node(api.KPred)), pred(seq(p)),
+		Seq(a, p), Seq(p, p), Seq(p, p, a), Seq(a, a, p), Seq(p, a, p), Seq(p), with(p, a), with(p, p), with(Opt(p), p), with(Star(p), a), with(Plus(p), p), Node(api.KPred),
+		with(a, p), with(Ref("a"), p), Node(api.KSet+1, p), Node(api.KSet + 1), Pred(Seq(a, p)), Seq(p, Opt(Seq(a, p))), Alts(p, Seq(a, a, p)), Opt(Node(api.KPred)), Pred(Seq(p)),
 	} {
 		held(t, n, none)
-		held(t, opt(n), none)
+		held(t, Opt(n), none)
 	}
 }
 
 // P3.2: names.
 func TestPlainNames(t *testing.T) {
 	for _, s := range []string{"a", "z", "aZ", "a0", "a_", "azAZ09_", "grammar", "skip", "a" + strings.Repeat("x", api.MaxName-1)} {
-		held(t, ref(s), parser)
-		held(t, tok(s), none)
-		held(t, tok(strings.ToUpper(s[:1])+s[1:]), both)
-		held(t, ref(strings.ToUpper(s[:1])+s[1:]), none)
-		held(t, seq(ref(s), tok(s)), none)
+		held(t, Ref(s), parser)
+		held(t, Tok(s), none)
+		held(t, Tok(strings.ToUpper(s[:1])+s[1:]), both)
+		held(t, Ref(strings.ToUpper(s[:1])+s[1:]), none)
+		held(t, Seq(Ref(s), Tok(s)), none)
 	}
 	for _, s := range []string{
 		"", " ", "_", "_a", "_A", "0", "0a", "9A", "-", "'", "@", "[", "`", "{", "\x00", "\n", "\xff", "\u00e9", "\u00c9", "\u0430", "\u0410", "\uff41", "\uff21", "\u0660",
 	} {
-		held(t, ref(s), none)
-		held(t, tok(s), none)
+		held(t, Ref(s), none)
+		held(t, Tok(s), none)
 	}
 	for _, s := range []string{" ", "-", ".", "/", ":", "@", "[", "\\", "^", "`", "{", "\x00", "\n", "\x7f", "\xff", "\u00e9", "\u00c9", "\u0660", "\uff41", "\u212a", "\u017f"} {
 		for _, s := range []string{s, s + "b", "b" + s + "b"} {
-			held(t, ref("a"+s), none)
-			held(t, tok("A"+s), none)
-			held(t, ref(s+"a"), none)
-			held(t, tok(s+"A"), none)
+			held(t, Ref("a"+s), none)
+			held(t, Tok("A"+s), none)
+			held(t, Ref(s+"a"), none)
+			held(t, Tok(s+"A"), none)
 		}
 	}
 	for _, n := range []int{api.MaxName, 2 * api.MaxName, api.MaxText} {
-		held(t, ref("a"+strings.Repeat("x", n)), none)
-		held(t, tok("A"+strings.Repeat("x", n)), none)
+		held(t, Ref("a"+strings.Repeat("x", n)), none)
+		held(t, Tok("A"+strings.Repeat("x", n)), none)
 	}
 }
 
 // P3.2: texts and sets.
 func TestPlainTexts(t *testing.T) {
 	for _, s := range []string{"a", "ab", " ", "\n", "'", "\\", "\x00", "\x7f", "\u00e9", "\ufffd", "\ue000", "\ud7ff", "\U0010ffff", "A | B", strings.Repeat("x", api.MaxText+1)} {
-		held(t, lit(s), token)
+		held(t, Lit(s), token)
 	}
 	for _, s := range []string{"", "\xff", "\x80", "a\xff", "\xffa", "a\xffb", "\xc0\x80", "\xed\xa0\x80", "\xf4\x90\x80\x80", "\u20ac\xe2\x82", "\ufffd\xef\xbf"} {
-		held(t, lit(s), none)
+		held(t, Lit(s), none)
 	}
 	for _, n := range []api.Node{
-		set('a', 'a'), set('a', 'z'), set('a', 'z', '0', '9'), set('z', 'z', 'a', 'b'), set('a', 'c', 'b', 'd'), set('a', 'a', 'a', 'a'), set(0, 0), set(0, last), set(last, last), set(0xd7ff, 0xe000), set(0, 0xd7ff, 0xe000, last),
+		Set('a', 'a'), Set('a', 'z'), Set('a', 'z', '0', '9'), Set('z', 'z', 'a', 'b'), Set('a', 'c', 'b', 'd'), Set('a', 'a', 'a', 'a'), Set(0, 0), Set(0, last), Set(last, last), Set(0xd7ff, 0xe000), Set(0, 0xd7ff, 0xe000, last),
 		{Kind: api.KSet, Set: slices.Repeat([]api.Range{{Low: 'a', High: 'b'}}, 5000)},
 	} {
 		held(t, n, token)
 	}
 	for _, n := range []api.Node{
-		set(), {Kind: api.KSet, Set: []api.Range{}}, {Kind: api.KSet, Set: make([]api.Range, 0, 3)},
-		set('b', 'a'), set('a', 'b', 'b', 'a'), set('b', 'a', 'a', 'b'), set(1, 0), set(last, 0),
-		set(-1, 0), set(-1, -1), set('a', -1), set(0, last+1), set(last+1, last+1), set(0xd800, 0xd800), set(0xd800, 0xdfff), set('a', 0xd800), set('a', 0xdfff), set(0xdfff, last), set(0xd800, last),
-		set('a', 'b', -1, 'a'), set(-1, 'a', 'a', 'b'), set('a', 'b', 'a', last+1), set(math.MinInt32, math.MaxInt32), set(0, math.MaxInt32), set(math.MinInt32, 0),
+		Set(), {Kind: api.KSet, Set: []api.Range{}}, {Kind: api.KSet, Set: make([]api.Range, 0, 3)},
+		Set('b', 'a'), Set('a', 'b', 'b', 'a'), Set('b', 'a', 'a', 'b'), Set(1, 0), Set(last, 0),
+		Set(-1, 0), Set(-1, -1), Set('a', -1), Set(0, last+1), Set(last+1, last+1), Set(0xd800, 0xd800), Set(0xd800, 0xdfff), Set('a', 0xd800), Set('a', 0xdfff), Set(0xdfff, last), Set(0xd800, last),
+		Set('a', 'b', -1, 'a'), Set(-1, 'a', 'a', 'b'), Set('a', 'b', 'a', last+1), Set(math.MinInt32, math.MaxInt32), Set(0, math.MaxInt32), Set(math.MinInt32, 0),
 	} {
 		held(t, n, none)
 	}
@@ -373,18 +331,18 @@ func TestPlainHasNoMore(t *testing.T) {
 		n               api.Node
 		name, text, set int // what is left with one
 	}{
-		{alts(tok("A"), tok("B")), none, none, none},
-		{seq(), none, none, none},
-		{seq(tok("A"), tok("B")), none, none, none},
-		{seq(pred(tok("A")), tok("B")), none, none, none},
-		{opt(tok("A")), none, none, none},
-		{star(tok("A")), none, none, none},
-		{plus(tok("A")), none, none, none},
-		{pred(tok("A")), none, none, none},
-		{ref("a"), parser, none, none},
-		{tok("a"), none, none, none},
-		{lit("a"), none, token, none},
-		{set('a', 'a'), none, none, token},
+		{Alts(Tok("A"), Tok("B")), none, none, none},
+		{Seq(), none, none, none},
+		{Seq(Tok("A"), Tok("B")), none, none, none},
+		{Seq(Pred(Tok("A")), Tok("B")), none, none, none},
+		{Opt(Tok("A")), none, none, none},
+		{Star(Tok("A")), none, none, none},
+		{Plus(Tok("A")), none, none, none},
+		{Pred(Tok("A")), none, none, none},
+		{Ref("a"), parser, none, none},
+		{Tok("a"), none, none, none},
+		{Lit("a"), none, token, none},
+		{Set('a', 'a'), none, none, token},
 	} {
 		for _, name := range []string{"a", "_"} {
 			n := k.n
@@ -394,7 +352,7 @@ func TestPlainHasNoMore(t *testing.T) {
 				want = none
 			}
 			held(t, n, want)
-			held(t, opt(n), want)
+			held(t, Opt(n), want)
 		}
 		for _, text := range []string{"a", " ", "\xff"} {
 			n := k.n
@@ -404,165 +362,165 @@ func TestPlainHasNoMore(t *testing.T) {
 				want = none
 			}
 			held(t, n, want)
-			held(t, opt(n), want)
+			held(t, Opt(n), want)
 		}
 		for _, l := range [][]api.Range{{{Low: 'a', High: 'b'}}, {{}}} {
 			n := k.n
 			n.Set = l
 			held(t, n, k.set)
-			held(t, opt(n), k.set)
+			held(t, Opt(n), k.set)
 		}
 	}
-	big := tok("A")
+	big := Tok("A")
 	big.Name, big.Text = "A", "A"
 	held(t, big, none)
 	bare := api.Node{Kind: api.KTok, Name: "A", Set: []api.Range{}, Subs: []api.Node{}} // lists of none are nothing
 	held(t, bare, both)
-	held(t, seq(bare, bare), both)
+	held(t, Seq(bare, bare), both)
 	held(t, api.Node{Kind: api.KSeq, Subs: []api.Node{}}, both)
 }
 
 // P3.2: the limits themselves are allowed; one more is not.
 func TestPlainLimits(t *testing.T) {
-	a := tok("A")
-	held(t, alts(many(api.MaxAlts, a)...), both)
-	held(t, alts(many(api.MaxAlts+1, a)...), none)
-	held(t, opt(alts(many(api.MaxAlts+1, a)...)), none)
-	held(t, alts(alts(many(api.MaxAlts, a)...), alts(many(api.MaxAlts, a)...)), both)
-	held(t, seq(many(api.MaxAlts+1, a)...), both)
-	held(t, seq(many(api.MaxNodes-1, a)...), both)
-	held(t, seq(many(api.MaxNodes, a)...), none)
-	held(t, seq(many(api.MaxNodes/2-1, opt(a))...), both) // one less than MaxNodes in all
-	held(t, seq(append(many(api.MaxNodes/2-1, opt(a)), a)...), both)
-	held(t, seq(append(many(api.MaxNodes/2-1, opt(a)), opt(a))...), none)
-	held(t, opt(seq(many(api.MaxNodes-2, a)...)), both)
-	held(t, opt(seq(many(api.MaxNodes-1, a)...)), none)
+	a := Tok("A")
+	held(t, Alts(many(api.MaxAlts, a)...), both)
+	held(t, Alts(many(api.MaxAlts+1, a)...), none)
+	held(t, Opt(Alts(many(api.MaxAlts+1, a)...)), none)
+	held(t, Alts(Alts(many(api.MaxAlts, a)...), Alts(many(api.MaxAlts, a)...)), both)
+	held(t, Seq(many(api.MaxAlts+1, a)...), both)
+	held(t, Seq(many(api.MaxNodes-1, a)...), both)
+	held(t, Seq(many(api.MaxNodes, a)...), none)
+	held(t, Seq(many(api.MaxNodes/2-1, Opt(a))...), both) // one less than MaxNodes in all
+	held(t, Seq(append(many(api.MaxNodes/2-1, Opt(a)), a)...), both)
+	held(t, Seq(append(many(api.MaxNodes/2-1, Opt(a)), Opt(a))...), none)
+	held(t, Opt(Seq(many(api.MaxNodes-2, a)...)), both)
+	held(t, Opt(Seq(many(api.MaxNodes-1, a)...)), none)
 	for _, k := range []api.Kind{api.KOpt, api.KStar, api.KPlus} {
-		held(t, chain(api.MaxDeep-1, k, a), both)
-		held(t, chain(api.MaxDeep, k, a), none)
+		held(t, Chain(api.MaxDeep-1, k, a), both)
+		held(t, Chain(api.MaxDeep, k, a), none)
 	}
-	held(t, chain(api.MaxDeep-1, api.KPred, a), parser)
-	held(t, chain(api.MaxDeep, api.KPred, a), none)
-	held(t, alts(a, chain(api.MaxDeep-2, api.KOpt, a)), both)
-	held(t, alts(a, chain(api.MaxDeep-1, api.KOpt, a)), none)
-	held(t, alts(chain(api.MaxDeep-1, api.KOpt, a), a), none)
-	held(t, chain(65535, api.KOpt, a), none)
+	held(t, Chain(api.MaxDeep-1, api.KPred, a), parser)
+	held(t, Chain(api.MaxDeep, api.KPred, a), none)
+	held(t, Alts(a, Chain(api.MaxDeep-2, api.KOpt, a)), both)
+	held(t, Alts(a, Chain(api.MaxDeep-1, api.KOpt, a)), none)
+	held(t, Alts(Chain(api.MaxDeep-1, api.KOpt, a), a), none)
+	held(t, Chain(65535, api.KOpt, a), none)
 }
 
 // P3.2
 func TestText(t *testing.T) {
-	a, b, c := tok("A"), ref("b"), tok("C")
+	a, b, c := Tok("A"), Ref("b"), Tok("C")
 	for _, k := range []struct {
 		n    api.Node
 		want string
 	}{
 		{a, "A"},
 		{b, "b"},
-		{tok("Azaz_09"), "Azaz_09"},
-		{seq(), "()"},
-		{seq(a, b), "A b"},
-		{seq(a, b, c), "A b C"},
-		{seq(seq(a, b), c), "(A b) C"},
-		{seq(a, seq(b, c)), "A (b C)"},
-		{seq(seq(), seq()), "() ()"},
-		{seq(alts(a, b), c), "(A | b) C"},
-		{seq(a, alts(b, c)), "A (b | C)"},
-		{seq(opt(a), star(b), plus(c)), "A? b* C+"},
-		{seq(opt(seq(a, b)), star(alts(b, c)), plus(opt(c))), "(A b)? (b | C)* (C?)+"},
-		{alts(a, b), "A | b"},
-		{alts(a, b, c), "A | b | C"},
-		{alts(alts(a, b), c), "(A | b) | C"},
-		{alts(a, alts(b, c)), "A | (b | C)"},
-		{alts(seq(a, b), seq(b, c)), "A b | b C"},
-		{alts(seq(), a, seq()), "() | A | ()"},
-		{alts(opt(a), star(b), plus(c)), "A? | b* | C+"},
-		{opt(a), "A?"},
-		{star(b), "b*"},
-		{plus(c), "C+"},
-		{opt(seq()), "()?"},
-		{star(seq()), "()*"},
-		{plus(seq()), "()+"},
-		{opt(seq(a, b)), "(A b)?"},
-		{star(alts(a, b)), "(A | b)*"},
-		{opt(opt(a)), "(A?)?"},
-		{star(opt(a)), "(A?)*"},
-		{plus(star(plus(a))), "((A+)*)+"},
-		{plus(lit("ab")), "'ab'+"},
-		{star(set('a', 'z')), "[a-z]*"},
-		{opt(pred(a)), "((A) =>)?"},
-		{star(pred(a)), "((A) =>)*"},
-		{plus(pred(alts(a, b))), "((A | b) =>)+"},
-		{pred(a), "(A) =>"},
-		{pred(seq()), "(()) =>"},
-		{pred(seq(a, b)), "(A b) =>"},
-		{pred(alts(a, b)), "(A | b) =>"},
-		{pred(pred(a)), "((A) =>) =>"},
-		{pred(opt(a)), "(A?) =>"},
-		{seq(pred(a), b), "(A) => b"},
-		{seq(pred(seq(a, b)), b, c), "(A b) => b C"},
-		{seq(pred(a), alts(b, c)), "(A) => (b | C)"},
-		{seq(pred(a), seq(b, c)), "(A) => (b C)"},
-		{seq(pred(a), seq()), "(A) => ()"},
-		{seq(a, seq(pred(b), c)), "A ((b) => C)"},
-		{alts(pred(a), b), "(A) => | b"},
-		{alts(seq(pred(a), b), pred(c)), "(A) => b | (C) =>"},
-		{lit("a"), "'a'"},
-		{lit("it's [x-y]"), `'it\'s \[x\-y\]'`},
-		{lit("\n\r\t\\"), `'\n\r\t\\'`},
-		{lit("\x00\u00e9\u20ac\U0010ffff~"), `'\u{0}\u{e9}\u{20ac}\u{10ffff}~'`},
-		{lit("\ufffd"), `'\u{fffd}'`},
-		{set('a', 'a'), "[a]"},
-		{set('a', 'b'), "[a-b]"},
-		{set('a', 'z', '_', '_', '0', '9'), "[a-z_0-9]"},
-		{set('b', 'b', 'a', 'a'), "[ba]"},
-		{set('-', '-', ']', ']', '[', '[', '\\', '\\', '\'', '\''), `[\-\]\[\\\']`},
-		{set('\n', '\r', 0, 0x1f, 127, last), `[\n-\r\u{0}-\u{1f}\u{7f}-\u{10ffff}]`},
-		{set('+', '-', '-', '/'), `[+-\-\--/]`},
-		{seq(set('a', 'a'), lit("b")), "[a] 'b'"},
-		{alts(seq(), seq(many(3, alts(a, opt(seq(b, c))))...)), "() | (A | (b C)?) (A | (b C)?) (A | (b C)?)"},
-		{chain(4, api.KOpt, a), "(((A?)?)?)?"},
+		{Tok("Azaz_09"), "Azaz_09"},
+		{Seq(), "()"},
+		{Seq(a, b), "A b"},
+		{Seq(a, b, c), "A b C"},
+		{Seq(Seq(a, b), c), "(A b) C"},
+		{Seq(a, Seq(b, c)), "A (b C)"},
+		{Seq(Seq(), Seq()), "() ()"},
+		{Seq(Alts(a, b), c), "(A | b) C"},
+		{Seq(a, Alts(b, c)), "A (b | C)"},
+		{Seq(Opt(a), Star(b), Plus(c)), "A? b* C+"},
+		{Seq(Opt(Seq(a, b)), Star(Alts(b, c)), Plus(Opt(c))), "(A b)? (b | C)* (C?)+"},
+		{Alts(a, b), "A | b"},
+		{Alts(a, b, c), "A | b | C"},
+		{Alts(Alts(a, b), c), "(A | b) | C"},
+		{Alts(a, Alts(b, c)), "A | (b | C)"},
+		{Alts(Seq(a, b), Seq(b, c)), "A b | b C"},
+		{Alts(Seq(), a, Seq()), "() | A | ()"},
+		{Alts(Opt(a), Star(b), Plus(c)), "A? | b* | C+"},
+		{Opt(a), "A?"},
+		{Star(b), "b*"},
+		{Plus(c), "C+"},
+		{Opt(Seq()), "()?"},
+		{Star(Seq()), "()*"},
+		{Plus(Seq()), "()+"},
+		{Opt(Seq(a, b)), "(A b)?"},
+		{Star(Alts(a, b)), "(A | b)*"},
+		{Opt(Opt(a)), "(A?)?"},
+		{Star(Opt(a)), "(A?)*"},
+		{Plus(Star(Plus(a))), "((A+)*)+"},
+		{Plus(Lit("ab")), "'ab'+"},
+		{Star(Set('a', 'z')), "[a-z]*"},
+		{Opt(Pred(a)), "((A) =>)?"},
+		{Star(Pred(a)), "((A) =>)*"},
+		{Plus(Pred(Alts(a, b))), "((A | b) =>)+"},
+		{Pred(a), "(A) =>"},
+		{Pred(Seq()), "(()) =>"},
+		{Pred(Seq(a, b)), "(A b) =>"},
+		{Pred(Alts(a, b)), "(A | b) =>"},
+		{Pred(Pred(a)), "((A) =>) =>"},
+		{Pred(Opt(a)), "(A?) =>"},
+		{Seq(Pred(a), b), "(A) => b"},
+		{Seq(Pred(Seq(a, b)), b, c), "(A b) => b C"},
+		{Seq(Pred(a), Alts(b, c)), "(A) => (b | C)"},
+		{Seq(Pred(a), Seq(b, c)), "(A) => (b C)"},
+		{Seq(Pred(a), Seq()), "(A) => ()"},
+		{Seq(a, Seq(Pred(b), c)), "A ((b) => C)"},
+		{Alts(Pred(a), b), "(A) => | b"},
+		{Alts(Seq(Pred(a), b), Pred(c)), "(A) => b | (C) =>"},
+		{Lit("a"), "'a'"},
+		{Lit("it's [x-y]"), `'it\'s \[x\-y\]'`},
+		{Lit("\n\r\t\\"), `'\n\r\t\\'`},
+		{Lit("\x00\u00e9\u20ac\U0010ffff~"), `'\u{0}\u{e9}\u{20ac}\u{10ffff}~'`},
+		{Lit("\ufffd"), `'\u{fffd}'`},
+		{Set('a', 'a'), "[a]"},
+		{Set('a', 'b'), "[a-b]"},
+		{Set('a', 'z', '_', '_', '0', '9'), "[a-z_0-9]"},
+		{Set('b', 'b', 'a', 'a'), "[ba]"},
+		{Set('-', '-', ']', ']', '[', '[', '\\', '\\', '\'', '\''), `[\-\]\[\\\']`},
+		{Set('\n', '\r', 0, 0x1f, 127, last), `[\n-\r\u{0}-\u{1f}\u{7f}-\u{10ffff}]`},
+		{Set('+', '-', '-', '/'), `[+-\-\--/]`},
+		{Seq(Set('a', 'a'), Lit("b")), "[a] 'b'"},
+		{Alts(Seq(), Seq(many(3, Alts(a, Opt(Seq(b, c))))...)), "() | (A | (b C)?) (A | (b C)?) (A | (b C)?)"},
+		{Chain(4, api.KOpt, a), "(((A?)?)?)?"},
 	} {
 		if s := nodes.Text(k.n); s != k.want {
 			t.Errorf("Text: %s; want %s", s, k.want)
 		}
 	}
 	deep := strings.Repeat("(", 65534) + "A*" + strings.Repeat(")*", 65534)
-	if nodes.Text(chain(65535, api.KStar, a)) != deep {
+	if nodes.Text(Chain(65535, api.KStar, a)) != deep {
 		t.Error("Text of a deep one")
 	}
 }
 
 // P3.2: of what is not plain the text has what there is.
 func TestTextOfOthers(t *testing.T) {
-	a, b := tok("A"), tok("B")
+	a, b := Tok("A"), Tok("B")
 	for _, k := range []struct {
 		n    api.Node
 		want string
 	}{
 		{api.Node{}, ""},
-		{alts(a), "A"},
-		{alts(alts(a, b)), "(A | B)"},
-		{seq(a), "A"},
-		{seq(seq(a)), "(A)"},
-		{seq(a, pred(b)), "A (B) =>"},
-		{opt(seq(a)), "(A)?"},
-		{node(api.KOpt), "?"},
-		{node(api.KStar), "*"},
-		{node(api.KPlus), "+"},
-		{node(api.KPred), "() =>"},
-		{with(opt(a), b), "A?"}, // its Sub is the first one
-		{with(pred(a), b), "(A) =>"},
-		{tok(""), ""},
-		{ref("\xff "), "\xff "}, // the name itself, whatever it is
-		{with(ref("a"), b), "a"},
-		{lit(""), "''"},
-		{lit("a\xffb\xe2\x82"), "'ab'"}, // bytes that belong to no rune have no text
-		{set(), "[]"},
-		{set('b', 'a'), "[b-a]"},
-		{set(-1, 'a', 'b', last+1, 0xd800, 0xd800), "[-ab-]"},
-		{node(api.KSet+1, a), ""},
-		{node(255, a), ""},
-		{opt(node(77)), "()?"},
+		{Alts(a), "A"},
+		{Alts(Alts(a, b)), "(A | B)"},
+		{Seq(a), "A"},
+		{Seq(Seq(a)), "(A)"},
+		{Seq(a, Pred(b)), "A (B) =>"},
+		{Opt(Seq(a)), "(A)?"},
+		{Node(api.KOpt), "?"},
+		{Node(api.KStar), "*"},
+		{Node(api.KPlus), "+"},
+		{Node(api.KPred), "() =>"},
+		{with(Opt(a), b), "A?"}, // its Sub is the first one
+		{with(Pred(a), b), "(A) =>"},
+		{Tok(""), ""},
+		{Ref("\xff "), "\xff "}, // the name itself, whatever it is
+		{with(Ref("a"), b), "a"},
+		{Lit(""), "''"},
+		{Lit("a\xffb\xe2\x82"), "'ab'"}, // bytes that belong to no rune have no text
+		{Set(), "[]"},
+		{Set('b', 'a'), "[b-a]"},
+		{Set(-1, 'a', 'b', last+1, 0xd800, 0xd800), "[-ab-]"},
+		{Node(api.KSet+1, a), ""},
+		{Node(255, a), ""},
+		{Opt(Node(77)), "()?"},
 		{api.Node{Kind: api.KSeq, Name: "a", Text: "b", Set: []api.Range{{}}}, "()"},
 		{api.Node{Kind: api.KTok, Name: "A", Text: "b", Set: []api.Range{{}}}, "A"},
 		{api.Node{Kind: api.KLit, Name: "a", Text: "b", Set: []api.Range{{}}}, "'b'"},
@@ -572,36 +530,6 @@ func TestTextOfOthers(t *testing.T) {
 			t.Errorf("Text: %s; want %s", s, k.want)
 		}
 	}
-}
-
-// grown are all nodes of leaves and of kinds with Subs, by how many they are: the i-th list has those of i.
-func grown(most int, leaves []api.Node) [][]api.Node {
-	all := make([][]api.Node, most+1)
-	all[1] = leaves
-	for count := 2; count <= most; count++ {
-		for k := api.KAlts; k <= api.KPred; k++ {
-			for _, subs := range rows(count-1, all) {
-				all[count] = append(all[count], node(k, subs...))
-			}
-		}
-	}
-	return all
-}
-
-// rows are all lists of nodes that are so many together.
-func rows(count int, all [][]api.Node) [][]api.Node {
-	if count == 0 {
-		return [][]api.Node{nil}
-	}
-	var out [][]api.Node
-	for first := 1; first <= count; first++ {
-		for _, rest := range rows(count-first, all) {
-			for _, n := range all[first] {
-				out = append(out, append([]api.Node{n}, rest...))
-			}
-		}
-	}
-	return out
 }
 
 // plainly tells by the chapter's words whether a node is plain but for its limits; seated: a KPred may be here.
@@ -670,9 +598,9 @@ func spelt(n api.Node) string {
 
 // P3.1 to P3.4: all small nodes, held against what the words tell of them.
 func TestSmallNodes(t *testing.T) {
-	leaves := []api.Node{ref("a"), tok("A"), seq(), lit("a"), set('a', 'a'), node(api.KPred), ref("A"), node(api.KSet + 1)}
+	leaves := []api.Node{Ref("a"), Tok("A"), Seq(), Lit("a"), Set('a', 'a'), Node(api.KPred), Ref("A"), Node(api.KSet + 1)}
 	texts := map[string]api.Node{}
-	for count, l := range grown(4, leaves) {
+	for count, l := range Grown(4, Kinds(api.KAlts, api.KPred), leaves) {
 		for _, n := range l {
 			plain := false
 			for _, token := range []bool{false, true} {
@@ -704,26 +632,26 @@ func TestSmallNodes(t *testing.T) {
 
 // P3.4: of each sort, nodes that are greater, or have leaves that go wrong most easily.
 func TestNoTwoHaveOneText(t *testing.T) {
-	hard := []api.Node{seq(), tok("A")}
+	hard := []api.Node{Seq(), Tok("A")}
 	for _, s := range []string{"a", "a' 'a", "a'", "'", "''", "\\", "\\'", "\\\\", "n", "\n", "\\n", "u{41}", "\\u{41}", "\u00e9", "e9", "()", "A", " ", "  ", "a b", "[a]", "]", "[", "-", "a-c", "abc", "| 'a", "\ufffd"} {
-		hard = append(hard, lit(s))
+		hard = append(hard, Lit(s))
 	}
 	for _, l := range [][]rune{{'a', 'c'}, {'a', 'b', 'c', 'c'}, {'a', 'a', '-', '-', 'c', 'c'}, {'a', 'a', 'b', 'c'}, {'a', 'a', 'b', 'b', 'c', 'c'}, {'a', 'a', 'c', 'c'}, {'-', '-'}, {'\\', '\\', '-', '-'}, {'\\', '-'}, {'-', '-', 'a', 'a'}, {'-', 'a'}, {'a', 'a', '-', '-'}, {'a', 'a'}, {'a', 'a', 'a', 'a'}, {']', ']'}, {'\\', '\\', ']', ']'}, {'\'', '\''}, {'\n', '\n'}, {'\\', '\\', 'n', 'n'}, {'n', 'n'}, {0, last}, {0, 0xd7ff, 0xe000, last}, {'A', 'A'}} {
-		hard = append(hard, set(l...))
+		hard = append(hard, Set(l...))
 	}
 	for _, k := range []struct {
 		most   int
 		token  bool
 		leaves []api.Node
 	}{
-		{6, false, []api.Node{tok("A"), seq()}},
-		{5, false, []api.Node{ref("a"), tok("A"), tok("Aa"), seq()}},
-		{6, true, []api.Node{lit("a"), seq()}},
+		{6, false, []api.Node{Tok("A"), Seq()}},
+		{5, false, []api.Node{Ref("a"), Tok("A"), Tok("Aa"), Seq()}},
+		{6, true, []api.Node{Lit("a"), Seq()}},
 		{3, true, hard},
 	} {
 		texts := map[string]int{}
 		plain := 0
-		for _, l := range grown(k.most, k.leaves) {
+		for _, l := range Grown(k.most, Kinds(api.KAlts, api.KPred), k.leaves) {
 			for _, n := range l {
 				if nodes.Plain(n, k.token) {
 					plain++
@@ -739,14 +667,14 @@ func TestNoTwoHaveOneText(t *testing.T) {
 
 // P3.3
 func TestCopy(t *testing.T) {
-	for _, n := range append(samples(), chain(65535, api.KPlus, lit("a"))) {
+	for _, n := range append(samples(), Chain(65535, api.KPlus, Lit("a"))) {
 		c := nodes.Copy(n)
 		if !nodes.Same(c, n) || !equal(c, n) {
 			t.Errorf("Copy(%.200s): %.200s", nodes.Text(n), nodes.Text(c))
 		}
 	}
-	one := opt(tok("A")) // that nodes share Subs makes no difference to what they are
-	c := nodes.Copy(seq(one, one, alts(one, one)))
+	one := Opt(Tok("A")) // that nodes share Subs makes no difference to what they are
+	c := nodes.Copy(Seq(one, one, Alts(one, one)))
 	c.Subs[0].Subs[0].Name = "B"
 	c.Subs[2].Subs[0].Subs[0].Name = "C"
 	if s := nodes.Text(c); s != "B? A? (C? | A?)" {
@@ -793,7 +721,7 @@ func TestCopyIsApart(t *testing.T) {
 			t.Errorf("%d: the copy has changed with its node", i)
 		}
 	}
-	wide := node(api.KSeq, append(make([]api.Node, 0, 10), tok("A"), tok("B"))...)
+	wide := Node(api.KSeq, append(make([]api.Node, 0, 10), Tok("A"), Tok("B"))...)
 	wide.Subs[0].Set = append(make([]api.Range, 0, 10), api.Range{Low: 1, High: 2})
 	wide.Subs[1].Set, wide.Subs[1].Subs = make([]api.Range, 0, 10), make([]api.Node, 0, 10)
 	c := nodes.Copy(wide)
@@ -801,7 +729,7 @@ func TestCopyIsApart(t *testing.T) {
 	if !equal(c, wide) {
 		t.Error("the copy of one with room behind")
 	}
-	_ = append(wide.Subs[1].Subs, tok("C"))
+	_ = append(wide.Subs[1].Subs, Tok("C"))
 	_ = append(wide.Subs[1].Set, api.Range{Low: 3, High: 4})
 	roomless(t, c)
 }
@@ -821,7 +749,7 @@ func TestNamesAreNotKept(t *testing.T) {
 	memory := []byte("abcdef")
 	name := unsafe.String(&memory[0], len(memory))
 	one := api.Node{Kind: api.KRef, Name: name, Text: name}
-	for _, n := range []api.Node{one, opt(one), seq(tok("A"), one), alts(one, one)} {
+	for _, n := range []api.Node{one, Opt(one), Seq(Tok("A"), one), Alts(one, one)} {
 		copy(memory, "abcdef")
 		c, s := nodes.Copy(n), nodes.Text(n)
 		again := strings.Clone(s)
@@ -882,20 +810,20 @@ func whole(n api.Node) api.Node {
 
 // R1: of a node that is within itself each call ends, with nothing.
 func TestRings(t *testing.T) {
-	for i, n := range rings() {
+	for i, n := range Rings(Tok("A")) {
 		if nodes.Plain(n, false) || nodes.Plain(n, true) {
 			t.Errorf("%d: plain", i)
 		}
 		if nodes.Count(n) != 0 || nodes.Deep(n) != 0 || nodes.Text(n) != "" || !nodes.Same(nodes.Copy(n), api.Node{}) {
 			t.Errorf("%d: more than nothing", i)
 		}
-		if nodes.Same(n, n) || nodes.Same(n, tok("A")) || nodes.Same(tok("A"), n) || nodes.Same(n, chain(9, n.Kind, tok("A"))) || nodes.Same(chain(9, n.Kind, tok("A")), n) {
+		if nodes.Same(n, n) || nodes.Same(n, Tok("A")) || nodes.Same(Tok("A"), n) || nodes.Same(n, Chain(9, n.Kind, Tok("A"))) || nodes.Same(Chain(9, n.Kind, Tok("A")), n) {
 			t.Errorf("%d: the same", i)
 		}
 	}
-	shared := tok("A") // few nodes in memory, but more than can be gone through one by one
+	shared := Tok("A") // few nodes in memory, but more than can be gone through one by one
 	for range 63 {
-		shared = alts(shared, shared)
+		shared = Alts(shared, shared)
 	}
 	if nodes.Plain(shared, false) || nodes.Plain(shared, true) {
 		t.Error("2 to the 64th nodes are plain")

@@ -10,44 +10,12 @@ import (
 
 	"harbinger/api"
 	"harbinger/grams"
+	. "harbinger/made"
 	"harbinger/nulls"
 )
 
 // strange is a sort that is none of the four: no parser's.
 const strange = api.SSkip + 1
-
-func node(k api.Kind, subs ...api.Node) api.Node {
-	return api.Node{Kind: k, Subs: subs}
-}
-
-func alts(subs ...api.Node) api.Node { return node(api.KAlts, subs...) }
-func seq(subs ...api.Node) api.Node  { return node(api.KSeq, subs...) }
-func opt(subs ...api.Node) api.Node  { return node(api.KOpt, subs...) }
-func star(subs ...api.Node) api.Node { return node(api.KStar, subs...) }
-func plus(subs ...api.Node) api.Node { return node(api.KPlus, subs...) }
-func pred(subs ...api.Node) api.Node { return node(api.KPred, subs...) }
-func ref(name string) api.Node       { return api.Node{Kind: api.KRef, Name: name} }
-func tok(name string) api.Node       { return api.Node{Kind: api.KTok, Name: name} }
-func lit(text string) api.Node       { return api.Node{Kind: api.KLit, Text: text} }
-
-func set(ends ...rune) api.Node {
-	n := api.Node{Kind: api.KSet}
-	for ; len(ends) > 0; ends = ends[2:] {
-		n.Set = append(n.Set, api.Range{Low: ends[0], High: ends[1]})
-	}
-	return n
-}
-
-func rule(sort api.Sort, name string, body api.Node) api.Rule {
-	return api.Rule{Name: name, Sort: sort, Body: body}
-}
-
-func parser(name string, body api.Node) api.Rule { return rule(api.SParser, name, body) }
-func token(name string, body api.Node) api.Rule  { return rule(api.SToken, name, body) }
-
-func grammar(rules ...api.Rule) api.Grammar {
-	return api.Grammar{Name: "G", Options: api.Options{Bound: 2, States: 256}, Rules: rules}
-}
 
 // marks are written as a text: a + for each that holds.
 func marks(l []bool) string {
@@ -89,7 +57,7 @@ func told(t *testing.T, g api.Grammar, empty, reach string) {
 
 // P5.1, P5.2: the chapter's example.
 func TestExample(t *testing.T) {
-	g := grammar(parser("a", alts(seq(opt(ref("b")), tok("C")), seq())), parser("b", seq(ref("a"), tok("D"))))
+	g := Grammar(Parser("a", Alts(Seq(Opt(Ref("b")), Tok("C")), Seq())), Parser("b", Seq(Ref("a"), Tok("D"))))
 	told(t, g, "+-", "++ ++")
 	if nulls.Find(g, "a") != 0 || nulls.Find(g, "b") != 1 || nulls.Find(g, "C") != -1 {
 		t.Error("Find")
@@ -125,14 +93,14 @@ skip GAP          : (' ' | Mark)* ;
 
 // P5.1: the first rule of a name, of whichever sort; none.
 func TestFind(t *testing.T) {
-	g := grammar(token("A", lit("a")), parser("b", seq()), parser("A", seq()), rule(strange, "b", seq()), rule(api.SSkip, "", seq()), rule(api.SFragment, "é\xff", seq()), parser("", seq()), token("Ab", seq()))
+	g := Grammar(Token("A", Lit("a")), Parser("b", Seq()), Parser("A", Seq()), Rule(strange, "b", Seq()), Rule(api.SSkip, "", Seq()), Rule(api.SFragment, "é\xff", Seq()), Parser("", Seq()), Token("Ab", Seq()))
 	for name, want := range map[string]int{"A": 0, "b": 1, "": 4, "é\xff": 5, "Ab": 7, "a": -1, "B": -1, "é": -1, "AA": -1, "A ": -1, "\x00": -1} {
 		if at := nulls.Find(g, name); at != want {
 			t.Errorf("Find(%q): %d", name, at)
 		}
 	}
 	g.Rules = g.Rules[:4]
-	for _, g := range []api.Grammar{{}, grammar(), {Name: "a", Rules: []api.Rule{}}, g} {
+	for _, g := range []api.Grammar{{}, Grammar(), {Name: "a", Rules: []api.Rule{}}, g} {
 		for _, name := range []string{"", "a", "G"} {
 			if at := nulls.Find(g, name); at != -1 {
 				t.Errorf("Find(%q): %d of %d rules", name, at, len(g.Rules))
@@ -143,13 +111,13 @@ func TestFind(t *testing.T) {
 
 // known are rules of each sort that may be empty, and that may not; and names that the first rule of another sort has.
 func known() api.Grammar {
-	return grammar(
-		parser("e", seq()), parser("n", tok("N")),
-		token("E", lit("")), token("N", lit("x")),
-		rule(api.SFragment, "FE", seq()), rule(api.SFragment, "FN", set('a', 'b')),
-		rule(api.SSkip, "SE", opt(lit("x"))), rule(api.SSkip, "SN", alts()),
-		rule(strange, "ZE", star()), rule(strange, "ZN", plus()),
-		token("x", seq()), parser("x", seq()), parser("X", seq()), token("X", seq()),
+	return Grammar(
+		Parser("e", Seq()), Parser("n", Tok("N")),
+		Token("E", Lit("")), Token("N", Lit("x")),
+		Rule(api.SFragment, "FE", Seq()), Rule(api.SFragment, "FN", Set('a', 'b')),
+		Rule(api.SSkip, "SE", Opt(Lit("x"))), Rule(api.SSkip, "SN", Alts()),
+		Rule(strange, "ZE", Star()), Rule(strange, "ZN", Plus()),
+		Token("x", Seq()), Parser("x", Seq()), Parser("X", Seq()), Token("X", Seq()),
 	)
 }
 
@@ -184,82 +152,82 @@ func cases() []struct {
 		parser []int
 		other  []int
 	}{
-		{seq(), "++", nil, nil},
-		{seq(ref("e"), opt(ref("n")), ref("e"), lit("")), "++", l{e, n}, l{e, n}},
-		{seq(ref("n"), ref("e")), "--", l{n}, l{n}},
-		{seq(ref("e"), ref("n"), tok("E")), "--", l{e, n}, l{e, n}},
-		{seq(opt(), set(), ref("e")), "--", nil, nil},
-		{seq(lit("a"), ref("e")), "--", nil, nil},
-		{seq(tok("E"), ref("e")), "-+", nil, l{tokE, e}},
-		{seq(pred(ref("n")), ref("e")), "++", l{n, e}, l{n, e}},
-		{seq(ref("e"), alts(), ref("n")), "--", l{e}, l{e}},
-		{seq(ref("e"), plus(ref("n"), ref("e")), ref("n"), ref("e")), "--", l{e, n}, l{e, n}},
-		{seq(ref("none"), ref("e")), "--", nil, nil},
-		{seq(seq(seq(), ref("e")), seq(ref("n"), tok("E")), ref("x")), "--", l{e, n}, l{e, n}},
-		{seq(seq()), "++", nil, nil},
-		{alts(), "--", nil, nil},
-		{alts(tok("E"), ref("n")), "-+", l{n}, l{tokE, n}},
-		{alts(ref("n"), ref("e")), "++", l{e, n}, l{e, n}},
-		{alts(ref("e"), ref("n")), "++", l{e, n}, l{e, n}},
-		{alts(set('a', 'a'), lit(""), lit("b")), "++", nil, nil},
-		{alts(lit("a"), seq(ref("n"), ref("e"))), "--", l{n}, l{n}},
-		{alts(opt()), "++", nil, nil},
-		{plus(), "--", nil, nil},
-		{plus(ref("n")), "--", l{n}, l{n}},
-		{plus(ref("e")), "++", l{e}, l{e}},
-		{plus(ref("n"), ref("e")), "++", l{e, n}, l{e, n}},
-		{plus(lit("a"), ref("n"), lit("b")), "--", l{n}, l{n}},
-		{opt(), "++", nil, nil},
-		{opt(ref("n")), "++", l{n}, l{n}},
-		{opt(ref("n"), ref("e")), "++", l{e, n}, l{e, n}},
-		{star(), "++", nil, nil},
-		{star(ref("n")), "++", l{n}, l{n}},
-		{star(seq(lit("a"), ref("e")), ref("n")), "++", l{n}, l{n}},
-		{pred(), "++", nil, nil},
-		{pred(ref("n")), "++", l{n}, l{n}},
-		{pred(seq(tok("E"), ref("n")), ref("e")), "++", l{e}, l{tokE, n, e}},
-		{lit(""), "++", nil, nil},
-		{lit("a"), "--", nil, nil},
-		{lit("\x00"), "--", nil, nil},
-		{lit("\xff"), "--", nil, nil},
-		{api.Node{Kind: api.KLit, Name: "e", Subs: []api.Node{ref("n")}}, "++", nil, nil},
-		{api.Node{Kind: api.KLit, Text: "a", Subs: []api.Node{ref("e")}}, "--", nil, nil},
-		{set(), "--", nil, nil},
-		{set('b', 'a'), "--", nil, nil},
-		{set('a', 'z'), "--", nil, nil},
-		{api.Node{Kind: api.KSet, Name: "e", Subs: []api.Node{ref("e")}}, "--", nil, nil},
-		{node(api.KSet+1, ref("e")), "--", nil, nil},
+		{Seq(), "++", nil, nil},
+		{Seq(Ref("e"), Opt(Ref("n")), Ref("e"), Lit("")), "++", l{e, n}, l{e, n}},
+		{Seq(Ref("n"), Ref("e")), "--", l{n}, l{n}},
+		{Seq(Ref("e"), Ref("n"), Tok("E")), "--", l{e, n}, l{e, n}},
+		{Seq(Opt(), Set(), Ref("e")), "--", nil, nil},
+		{Seq(Lit("a"), Ref("e")), "--", nil, nil},
+		{Seq(Tok("E"), Ref("e")), "-+", nil, l{tokE, e}},
+		{Seq(Pred(Ref("n")), Ref("e")), "++", l{n, e}, l{n, e}},
+		{Seq(Ref("e"), Alts(), Ref("n")), "--", l{e}, l{e}},
+		{Seq(Ref("e"), Plus(Ref("n"), Ref("e")), Ref("n"), Ref("e")), "--", l{e, n}, l{e, n}},
+		{Seq(Ref("none"), Ref("e")), "--", nil, nil},
+		{Seq(Seq(Seq(), Ref("e")), Seq(Ref("n"), Tok("E")), Ref("x")), "--", l{e, n}, l{e, n}},
+		{Seq(Seq()), "++", nil, nil},
+		{Alts(), "--", nil, nil},
+		{Alts(Tok("E"), Ref("n")), "-+", l{n}, l{tokE, n}},
+		{Alts(Ref("n"), Ref("e")), "++", l{e, n}, l{e, n}},
+		{Alts(Ref("e"), Ref("n")), "++", l{e, n}, l{e, n}},
+		{Alts(Set('a', 'a'), Lit(""), Lit("b")), "++", nil, nil},
+		{Alts(Lit("a"), Seq(Ref("n"), Ref("e"))), "--", l{n}, l{n}},
+		{Alts(Opt()), "++", nil, nil},
+		{Plus(), "--", nil, nil},
+		{Plus(Ref("n")), "--", l{n}, l{n}},
+		{Plus(Ref("e")), "++", l{e}, l{e}},
+		{Plus(Ref("n"), Ref("e")), "++", l{e, n}, l{e, n}},
+		{Plus(Lit("a"), Ref("n"), Lit("b")), "--", l{n}, l{n}},
+		{Opt(), "++", nil, nil},
+		{Opt(Ref("n")), "++", l{n}, l{n}},
+		{Opt(Ref("n"), Ref("e")), "++", l{e, n}, l{e, n}},
+		{Star(), "++", nil, nil},
+		{Star(Ref("n")), "++", l{n}, l{n}},
+		{Star(Seq(Lit("a"), Ref("e")), Ref("n")), "++", l{n}, l{n}},
+		{Pred(), "++", nil, nil},
+		{Pred(Ref("n")), "++", l{n}, l{n}},
+		{Pred(Seq(Tok("E"), Ref("n")), Ref("e")), "++", l{e}, l{tokE, n, e}},
+		{Lit(""), "++", nil, nil},
+		{Lit("a"), "--", nil, nil},
+		{Lit("\x00"), "--", nil, nil},
+		{Lit("\xff"), "--", nil, nil},
+		{api.Node{Kind: api.KLit, Name: "e", Subs: []api.Node{Ref("n")}}, "++", nil, nil},
+		{api.Node{Kind: api.KLit, Text: "a", Subs: []api.Node{Ref("e")}}, "--", nil, nil},
+		{Set(), "--", nil, nil},
+		{Set('b', 'a'), "--", nil, nil},
+		{Set('a', 'z'), "--", nil, nil},
+		{api.Node{Kind: api.KSet, Name: "e", Subs: []api.Node{Ref("e")}}, "--", nil, nil},
+		{Node(api.KSet+1, Ref("e")), "--", nil, nil},
 		{api.Node{Kind: api.KSet + 1, Name: "e"}, "--", nil, nil},
-		{node(math.MaxUint8, seq()), "--", nil, nil},
-		{api.Node{Kind: api.KSeq, Name: "n", Text: "n", Set: set('a', 'b').Set}, "++", nil, nil},
+		{Node(math.MaxUint8, Seq()), "--", nil, nil},
+		{api.Node{Kind: api.KSeq, Name: "n", Text: "n", Set: Set('a', 'b').Set}, "++", nil, nil},
 		{api.Node{Kind: api.KOpt, Name: "e"}, "++", nil, nil},
-		{ref("e"), "++", l{e}, l{e}},
-		{ref("n"), "--", l{n}, l{n}},
-		{api.Node{Kind: api.KRef, Name: "e", Text: "a", Subs: []api.Node{tok("N"), ref("n")}}, "++", l{e}, l{e}},
-		{api.Node{Kind: api.KRef, Name: "n", Subs: []api.Node{ref("e")}}, "--", l{n}, l{n}},
-		{ref("none"), "--", nil, nil},
-		{ref(""), "--", nil, nil},
-		{ref("E"), "--", nil, nil},
-		{ref("FE"), "--", nil, nil},
-		{ref("SE"), "--", nil, nil},
-		{ref("ZE"), "--", nil, nil},
-		{ref("x"), "--", nil, nil}, // the first one of that name is a token's
-		{ref("X"), "++", l{parserX}, l{parserX}},
-		{tok("E"), "-+", nil, l{tokE}},
-		{tok("N"), "--", nil, l{tokN}},
-		{tok("FE"), "-+", nil, l{fragE}},
-		{tok("FN"), "--", nil, l{fragN}},
-		{tok("SE"), "-+", nil, l{skipE}},
-		{tok("SN"), "--", nil, l{skipN}},
-		{tok("ZE"), "-+", nil, l{strangeE}},
-		{tok("ZN"), "--", nil, l{strangeN}},
-		{tok("x"), "-+", nil, l{tokX}},
-		{tok("X"), "--", nil, nil}, // the first one of that name is a parser's
-		{tok("e"), "--", nil, nil},
-		{tok("none"), "--", nil, nil},
-		{tok(""), "--", nil, nil},
-		{api.Node{Kind: api.KTok, Name: "N", Subs: []api.Node{seq()}}, "--", nil, l{tokN}},
-		{api.Node{Kind: api.KTok, Name: "E", Text: "x", Subs: []api.Node{tok("N")}}, "-+", nil, l{tokE}},
+		{Ref("e"), "++", l{e}, l{e}},
+		{Ref("n"), "--", l{n}, l{n}},
+		{api.Node{Kind: api.KRef, Name: "e", Text: "a", Subs: []api.Node{Tok("N"), Ref("n")}}, "++", l{e}, l{e}},
+		{api.Node{Kind: api.KRef, Name: "n", Subs: []api.Node{Ref("e")}}, "--", l{n}, l{n}},
+		{Ref("none"), "--", nil, nil},
+		{Ref(""), "--", nil, nil},
+		{Ref("E"), "--", nil, nil},
+		{Ref("FE"), "--", nil, nil},
+		{Ref("SE"), "--", nil, nil},
+		{Ref("ZE"), "--", nil, nil},
+		{Ref("x"), "--", nil, nil}, // the first one of that name is a token's
+		{Ref("X"), "++", l{parserX}, l{parserX}},
+		{Tok("E"), "-+", nil, l{tokE}},
+		{Tok("N"), "--", nil, l{tokN}},
+		{Tok("FE"), "-+", nil, l{fragE}},
+		{Tok("FN"), "--", nil, l{fragN}},
+		{Tok("SE"), "-+", nil, l{skipE}},
+		{Tok("SN"), "--", nil, l{skipN}},
+		{Tok("ZE"), "-+", nil, l{strangeE}},
+		{Tok("ZN"), "--", nil, l{strangeN}},
+		{Tok("x"), "-+", nil, l{tokX}},
+		{Tok("X"), "--", nil, nil}, // the first one of that name is a parser's
+		{Tok("e"), "--", nil, nil},
+		{Tok("none"), "--", nil, nil},
+		{Tok(""), "--", nil, nil},
+		{api.Node{Kind: api.KTok, Name: "N", Subs: []api.Node{Seq()}}, "--", nil, l{tokN}},
+		{api.Node{Kind: api.KTok, Name: "E", Text: "x", Subs: []api.Node{Tok("N")}}, "-+", nil, l{tokE}},
 	}
 }
 
@@ -277,7 +245,7 @@ func TestNodes(t *testing.T) {
 			}
 			g := known()
 			last := len(g.Rules)
-			g.Rules = append(g.Rules, rule(sort, "last", c.n))
+			g.Rules = append(g.Rules, Rule(sort, "last", c.n))
 			want := c.in[which] == '+'
 			if nulls.Empty(g)[last] != want || nulls.May(g, last, c.n) != want {
 				t.Errorf("%v in a rule of sort %d: %t", c.n, sort, !want)
@@ -314,11 +282,11 @@ func TestMay(t *testing.T) {
 			}
 		}
 	}
-	if nulls.May(api.Grammar{}, 0, seq()) || nulls.May(grammar(), 0, opt()) {
+	if nulls.May(api.Grammar{}, 0, Seq()) || nulls.May(Grammar(), 0, Opt()) {
 		t.Error("May of no rules")
 	}
 	whole := api.Grammar{Rules: g.Rules[:1:1]} // of rules that are there behind those handed in nothing is known
-	if nulls.May(whole, 1, seq()) || nulls.May(whole, 0, ref("X")) || !nulls.May(whole, 0, ref("e")) {
+	if nulls.May(whole, 1, Seq()) || nulls.May(whole, 0, Ref("X")) || !nulls.May(whole, 0, Ref("e")) {
 		t.Error("May of fewer rules")
 	}
 }
@@ -330,32 +298,32 @@ func TestFewest(t *testing.T) {
 		empty, reach string
 	}{
 		{api.Grammar{}, "", ""},
-		{grammar(), "", ""},
-		{grammar(parser("a", ref("a"))), "-", "+"},
-		{grammar(parser("a", seq(ref("a"), ref("a")))), "-", "+"},
-		{grammar(parser("a", plus(ref("a")))), "-", "+"},
-		{grammar(parser("a", alts(ref("a"), tok("B")))), "-", "+"},
-		{grammar(parser("a", alts(ref("a"), seq()))), "+", "+"},
-		{grammar(parser("a", seq(ref("a"), opt(ref("a"))))), "-", "+"},
-		{grammar(parser("a", opt(ref("a")))), "+", "+"},
-		{grammar(token("A", tok("A"))), "-", "+"},
-		{grammar(token("A", alts(tok("A"), lit("")))), "+", "+"},
-		{grammar(parser("a", tok("a"))), "-", "-"},
-		{grammar(token("A", ref("A"))), "-", "-"},
-		{grammar(parser("a", ref("b")), parser("b", ref("a"))), "--", "++ ++"},
-		{grammar(parser("a", alts(ref("b"), seq())), parser("b", ref("a"))), "++", "++ ++"},
-		{grammar(parser("a", ref("b")), parser("b", alts(ref("a"), opt(tok("C"))))), "++", "++ ++"},
-		{grammar(parser("a", seq(ref("b"), ref("c"))), parser("b", seq()), parser("c", seq(ref("b"), tok("D")))), "-+-", "-++ --- -+-"},
-		{grammar(parser("a", seq(ref("c"), ref("b"))), parser("b", seq()), parser("c", seq(ref("b"), tok("D"), ref("a")))), "-+-", "-++ --- -+-"},
-		{grammar(parser("a", seq(tok("D"), ref("b"))), parser("b", ref("a"))), "--", "-- +-"},
-		{grammar(parser("a", seq(ref("b"), ref("c"))), parser("b", opt(tok("B"))), parser("c", ref("a"))), "-+-", "+++ --- +++"},
-		{grammar(parser("a", ref("b")), parser("b", ref("c")), parser("c", ref("d")), parser("d", seq())), "++++", "-+++ --++ ---+ ----"},
-		{grammar(parser("d", seq()), parser("c", ref("d")), parser("b", ref("c")), parser("a", ref("b"))), "++++", "---- +--- ++-- +++-"},
-		{grammar(parser("a", ref("b")), parser("b", ref("c")), parser("c", ref("a")), parser("d", ref("b"))), "----", "+++- +++- +++- +++-"},
-		{grammar(parser("a", ref("b")), token("B", tok("C")), parser("b", tok("B")), token("C", lit(""))), "-+-+", "--+- ---+ ---- ----"},
-		{grammar(token("A", seq(tok("F"), tok("S"))), rule(api.SFragment, "F", opt(lit("x"))), rule(api.SSkip, "S", star(tok("A")))), "+++", "+++ --- +++"},
-		{grammar(parser("a", tok("B")), parser("a", seq()), parser("b", ref("a")), parser("b", ref("a"))), "-+--", "---- ---- +--- +---"},
-		{grammar(parser("a", ref("b")), token("b", ref("a")), parser("b", seq())), "--+", "--- +-- ---"},
+		{Grammar(), "", ""},
+		{Grammar(Parser("a", Ref("a"))), "-", "+"},
+		{Grammar(Parser("a", Seq(Ref("a"), Ref("a")))), "-", "+"},
+		{Grammar(Parser("a", Plus(Ref("a")))), "-", "+"},
+		{Grammar(Parser("a", Alts(Ref("a"), Tok("B")))), "-", "+"},
+		{Grammar(Parser("a", Alts(Ref("a"), Seq()))), "+", "+"},
+		{Grammar(Parser("a", Seq(Ref("a"), Opt(Ref("a"))))), "-", "+"},
+		{Grammar(Parser("a", Opt(Ref("a")))), "+", "+"},
+		{Grammar(Token("A", Tok("A"))), "-", "+"},
+		{Grammar(Token("A", Alts(Tok("A"), Lit("")))), "+", "+"},
+		{Grammar(Parser("a", Tok("a"))), "-", "-"},
+		{Grammar(Token("A", Ref("A"))), "-", "-"},
+		{Grammar(Parser("a", Ref("b")), Parser("b", Ref("a"))), "--", "++ ++"},
+		{Grammar(Parser("a", Alts(Ref("b"), Seq())), Parser("b", Ref("a"))), "++", "++ ++"},
+		{Grammar(Parser("a", Ref("b")), Parser("b", Alts(Ref("a"), Opt(Tok("C"))))), "++", "++ ++"},
+		{Grammar(Parser("a", Seq(Ref("b"), Ref("c"))), Parser("b", Seq()), Parser("c", Seq(Ref("b"), Tok("D")))), "-+-", "-++ --- -+-"},
+		{Grammar(Parser("a", Seq(Ref("c"), Ref("b"))), Parser("b", Seq()), Parser("c", Seq(Ref("b"), Tok("D"), Ref("a")))), "-+-", "-++ --- -+-"},
+		{Grammar(Parser("a", Seq(Tok("D"), Ref("b"))), Parser("b", Ref("a"))), "--", "-- +-"},
+		{Grammar(Parser("a", Seq(Ref("b"), Ref("c"))), Parser("b", Opt(Tok("B"))), Parser("c", Ref("a"))), "-+-", "+++ --- +++"},
+		{Grammar(Parser("a", Ref("b")), Parser("b", Ref("c")), Parser("c", Ref("d")), Parser("d", Seq())), "++++", "-+++ --++ ---+ ----"},
+		{Grammar(Parser("d", Seq()), Parser("c", Ref("d")), Parser("b", Ref("c")), Parser("a", Ref("b"))), "++++", "---- +--- ++-- +++-"},
+		{Grammar(Parser("a", Ref("b")), Parser("b", Ref("c")), Parser("c", Ref("a")), Parser("d", Ref("b"))), "----", "+++- +++- +++- +++-"},
+		{Grammar(Parser("a", Ref("b")), Token("B", Tok("C")), Parser("b", Tok("B")), Token("C", Lit(""))), "-+-+", "--+- ---+ ---- ----"},
+		{Grammar(Token("A", Seq(Tok("F"), Tok("S"))), Rule(api.SFragment, "F", Opt(Lit("x"))), Rule(api.SSkip, "S", Star(Tok("A")))), "+++", "+++ --- +++"},
+		{Grammar(Parser("a", Tok("B")), Parser("a", Seq()), Parser("b", Ref("a")), Parser("b", Ref("a"))), "-+--", "---- ---- +--- +---"},
+		{Grammar(Parser("a", Ref("b")), Token("b", Ref("a")), Parser("b", Seq())), "--+", "--- +-- ---"},
 	} {
 		told(t, c.g, c.empty, c.reach)
 	}
@@ -363,13 +331,13 @@ func TestFewest(t *testing.T) {
 
 // P5.2: what stands behind such that may be empty only as another rule may is reached, however late that is known.
 func TestReachedBehindEmpty(t *testing.T) {
-	g := grammar(
-		parser("a", seq(ref("b"), ref("z"))),
-		parser("b", seq(ref("c"), ref("c"))),
-		parser("c", alts(tok("D"), seq(ref("d"), ref("y")))),
-		parser("d", opt(tok("D"))),
-		parser("y", plus(ref("d"))),
-		parser("z", seq(tok("Z"), ref("a"))),
+	g := Grammar(
+		Parser("a", Seq(Ref("b"), Ref("z"))),
+		Parser("b", Seq(Ref("c"), Ref("c"))),
+		Parser("c", Alts(Tok("D"), Seq(Ref("d"), Ref("y")))),
+		Parser("d", Opt(Tok("D"))),
+		Parser("y", Plus(Ref("d"))),
+		Parser("z", Seq(Tok("Z"), Ref("a"))),
 	)
 	told(t, g, "-++++-", "-+++++ --+++- ---++- ------ ---+-- ------")
 	slices.Reverse(g.Rules)
@@ -380,7 +348,7 @@ func TestReachedBehindEmpty(t *testing.T) {
 func chain(count int, last api.Node) []api.Rule {
 	var l []api.Rule
 	for i := range count {
-		l = append(l, parser("r"+strconv.Itoa(i), seq(ref("r"+strconv.Itoa(i+1)), opt(tok("A")))))
+		l = append(l, Parser("r"+strconv.Itoa(i), Seq(Ref("r"+strconv.Itoa(i+1)), Opt(Tok("A")))))
 	}
 	l[count-1].Body = last
 	return l
@@ -389,8 +357,8 @@ func chain(count int, last api.Node) []api.Rule {
 // P5.1, P5.2: as many rules as may be, and more, in both orders.
 func TestChains(t *testing.T) {
 	for _, count := range []int{1, 2, api.MaxRules, api.MaxRules + 1, 500} {
-		for _, last := range []api.Node{seq(), tok("A"), ref("r0")} {
-			g := grammar(chain(count, last)...)
+		for _, last := range []api.Node{Seq(), Tok("A"), Ref("r0")} {
+			g := Grammar(chain(count, last)...)
 			held(t, g, last)
 			slices.Reverse(g.Rules)
 			held(t, g, last)
@@ -429,16 +397,16 @@ func held(t *testing.T, g api.Grammar, last api.Node) {
 func TestLimits(t *testing.T) {
 	var rules []api.Rule
 	for i := range api.MaxRules {
-		body := ref("r" + strconv.Itoa(i+1))
+		body := Ref("r" + strconv.Itoa(i+1))
 		for range api.MaxDeep - 2 {
-			body = plus(body)
+			body = Plus(body)
 		}
-		many := slices.Repeat([]api.Node{opt(ref("r" + strconv.Itoa(i+1)))}, (api.MaxNodes-api.MaxDeep)/2)
-		rules = append(rules, parser("r"+strconv.Itoa(i), seq(append(many, body)...)))
+		many := slices.Repeat([]api.Node{Opt(Ref("r" + strconv.Itoa(i+1)))}, (api.MaxNodes-api.MaxDeep)/2)
+		rules = append(rules, Parser("r"+strconv.Itoa(i), Seq(append(many, body)...)))
 	}
-	for _, last := range []api.Node{tok("A"), star(tok("A"))} {
-		rules[api.MaxRules-1].Body = alts(append(slices.Repeat([]api.Node{tok("A")}, api.MaxAlts-1), last)...)
-		g := grammar(rules...)
+	for _, last := range []api.Node{Tok("A"), Star(Tok("A"))} {
+		rules[api.MaxRules-1].Body = Alts(append(slices.Repeat([]api.Node{Tok("A")}, api.MaxAlts-1), last)...)
+		g := Grammar(rules...)
 		if l := nulls.Empty(g); len(l) != api.MaxRules || slices.Contains(l, last.Kind == api.KTok) {
 			t.Error(last.Kind, marks(l))
 		}
@@ -455,11 +423,11 @@ func TestDeepNodes(t *testing.T) {
 	const levels = 1<<16 - 2
 	for _, k := range []api.Kind{api.KAlts, api.KSeq, api.KPlus, api.KOpt, api.KStar, api.KPred} {
 		always := k == api.KOpt || k == api.KStar || k == api.KPred
-		g := grammar(parser("a", seq()), parser("b", seq()), parser("c", seq()), parser("e", seq()), parser("n", tok("N")))
+		g := Grammar(Parser("a", Seq()), Parser("b", Seq()), Parser("c", Seq()), Parser("e", Seq()), Parser("n", Tok("N")))
 		for i, name := range []string{"e", "n", "c"} {
-			body := ref(name)
+			body := Ref(name)
 			for range levels {
-				body = node(k, body)
+				body = Node(k, body)
 			}
 			g.Rules[i].Body = body
 		}
@@ -472,31 +440,18 @@ func TestDeepNodes(t *testing.T) {
 	}
 }
 
-// rings are nodes that are within themselves.
-func rings() []api.Node {
-	var all []api.Node
-	for k := api.KAlts; k <= api.KSet+1; k++ {
-		one := node(k, ref("e"))
-		one.Subs[0] = one
-		two := node(k, node(api.KSeq, ref("e"), ref("e")), ref("e"), ref("e"))
-		two.Subs[0].Subs[1], two.Subs[1], two.Subs[2] = two, two, two
-		all = append(all, one, two, opt(ref("e"), one))
-	}
-	return all
-}
-
 // R1: of a node that is within itself each call ends; the other rules are told all the same.
 func TestRings(t *testing.T) {
-	for i, n := range rings() {
+	for i, n := range Rings(Ref("e")) {
 		for _, sort := range []api.Sort{api.SParser, api.SToken} {
-			g := grammar(parser("e", seq()), rule(sort, "a", n), parser("b", seq(ref("e"), alts(tok("C"), ref("e")))))
+			g := Grammar(Parser("e", Seq()), Rule(sort, "a", n), Parser("b", Seq(Ref("e"), Alts(Tok("C"), Ref("e")))))
 			if s := marks(nulls.Empty(g)); s != "+-+" {
 				t.Error(i, s)
 			}
 			if s := table(nulls.Reach(g)); s != "--- --- +--" {
 				t.Error(i, s)
 			}
-			if nulls.May(g, 2, n) || nulls.May(g, 1, n) || !nulls.May(g, 1, ref("e")) {
+			if nulls.May(g, 2, n) || nulls.May(g, 1, n) || !nulls.May(g, 1, Ref("e")) {
 				t.Error(i)
 			}
 			if b := g.Rules[1].Body; b.Kind != n.Kind || len(b.Subs) != len(n.Subs) {
@@ -520,9 +475,9 @@ func copied(n api.Node) api.Node {
 func TestApart(t *testing.T) {
 	g := known()
 	for _, c := range cases() {
-		g.Rules = append(g.Rules, rule(api.SParser, "p", c.n), rule(api.SToken, "T", c.n))
+		g.Rules = append(g.Rules, Rule(api.SParser, "p", c.n), Rule(api.SToken, "T", c.n))
 	}
-	was := grammar(slices.Clone(g.Rules)...)
+	was := Grammar(slices.Clone(g.Rules)...)
 	for i, r := range was.Rules {
 		was.Rules[i].Body = copied(r.Body)
 	}

@@ -6,6 +6,7 @@ import (
 	"testing"
 
 	"harbinger/api"
+	. "harbinger/made"
 	"harbinger/nulls"
 )
 
@@ -83,7 +84,7 @@ func atOnce(g api.Grammar, in int, n api.Node, rules uint) (set uint) {
 	switch n.Kind {
 	case api.KSeq, api.KAlts, api.KOpt, api.KStar, api.KPlus, api.KPred:
 		for i, s := range n.Subs {
-			if n.Kind != api.KSeq || mayBe(g, in, node(api.KSeq, n.Subs[:i]...), rules) {
+			if n.Kind != api.KSeq || mayBe(g, in, Node(api.KSeq, n.Subs[:i]...), rules) {
 				set |= atOnce(g, in, s, rules)
 			}
 		}
@@ -149,49 +150,19 @@ func reread(t *testing.T, g api.Grammar) {
 	}
 }
 
-// grown are all nodes of so many nodes at most, of these kinds and leaves.
-func grown(most int, kinds []api.Kind, leaves []api.Node) []api.Node {
-	by := make([][]api.Node, most+1) // of just so many
-	by[1] = slices.Clone(leaves)
-	for _, k := range kinds {
-		by[1] = append(by[1], node(k))
-	}
-	for count := 2; count <= most; count++ {
-		for _, k := range kinds {
-			for _, l := range lists(count-1, by) {
-				by[count] = append(by[count], node(k, l...))
-			}
-		}
-	}
-	return slices.Concat(by...)
-}
-
-// lists are all of nodes that are so many together.
-func lists(count int, by [][]api.Node) [][]api.Node {
-	if count == 0 {
-		return [][]api.Node{nil}
-	}
-	var all [][]api.Node
-	for i := 1; i <= count; i++ {
-		for _, n := range by[i] {
-			for _, l := range lists(count-i, by) {
-				all = append(all, append([]api.Node{n}, l...))
-			}
-		}
-	}
-	return all
-}
-
 // P5.1 to P5.3: all small bodies, in rules of each sort, with another rule that may be empty, that may not, and that is as this one is.
 func TestSmallBodies(t *testing.T) {
 	kinds := []api.Kind{api.KAlts, api.KSeq, api.KOpt, api.KStar, api.KPlus, api.KPred}
-	leaves := []api.Node{ref("a"), ref("b"), tok("a"), tok("b"), lit(""), set('x', 'y')}
-	bodies := grown(3, kinds, leaves)
+	leaves := []api.Node{Ref("a"), Ref("b"), Tok("a"), Tok("b"), Lit(""), Set('x', 'y')}
+	for _, k := range kinds {
+		leaves = append(leaves, Node(k))
+	}
+	bodies := slices.Concat(Grown(3, kinds, leaves)...)
 	count := 0
 	for _, body := range bodies {
-		for _, other := range []api.Node{seq(), tok("a"), ref("a"), opt(ref("b"), lit("x"))} {
+		for _, other := range []api.Node{Seq(), Tok("a"), Ref("a"), Opt(Ref("b"), Lit("x"))} {
 			for sorts := range 4 {
-				reread(t, grammar(rule(api.Sort(sorts&1), "a", body), rule(api.Sort(sorts>>1), "b", other)))
+				reread(t, Grammar(Rule(api.Sort(sorts&1), "a", body), Rule(api.Sort(sorts>>1), "b", other)))
 				count++
 			}
 		}
@@ -203,46 +174,24 @@ func TestSmallBodies(t *testing.T) {
 
 // P5.1 to P5.3: all pairs of smaller bodies.
 func TestPairs(t *testing.T) {
-	bodies := grown(2, []api.Kind{api.KAlts, api.KSeq, api.KOpt, api.KPlus}, []api.Node{ref("a"), ref("b"), tok("a"), tok("b"), lit("x")})
-	bodies = append(bodies, seq(ref("a"), ref("b")), seq(ref("b"), ref("a")), alts(ref("a"), ref("b")), seq(tok("b"), tok("a")), alts(tok("a"), lit("")))
+	kinds := []api.Kind{api.KAlts, api.KSeq, api.KOpt, api.KPlus}
+	bodies := slices.Concat(Grown(2, kinds, []api.Node{Ref("a"), Ref("b"), Tok("a"), Tok("b"), Lit("x"), Alts(), Seq(), Opt(), Plus()})...)
+	bodies = append(bodies, Seq(Ref("a"), Ref("b")), Seq(Ref("b"), Ref("a")), Alts(Ref("a"), Ref("b")), Seq(Tok("b"), Tok("a")), Alts(Tok("a"), Lit("")))
 	for _, a := range bodies {
 		for _, b := range bodies {
 			for _, sort := range []api.Sort{api.SParser, api.SFragment} {
-				reread(t, grammar(rule(sort, "a", a), rule(api.SParser, "b", b)))
-				reread(t, grammar(rule(sort, "a", a), rule(api.SSkip, "b", b)))
+				reread(t, Grammar(Rule(sort, "a", a), Rule(api.SParser, "b", b)))
+				reread(t, Grammar(Rule(sort, "a", a), Rule(api.SSkip, "b", b)))
 			}
 		}
 	}
-}
-
-// whatever is a node of any kind, with any names, texts and Subs.
-func whatever(r *rand.Rand, levels int) api.Node {
-	n := api.Node{Kind: api.Kind(r.IntN(int(api.KSet) + 2))}
-	if r.IntN(2) == 0 {
-		n.Kind = []api.Kind{api.KSeq, api.KSeq, api.KAlts, api.KRef, api.KTok}[r.IntN(5)]
-	}
-	n.Name = []string{"a", "b", "c", "d", "e", ""}[r.IntN(6)]
-	n.Text = []string{"", "x"}[r.IntN(2)]
-	if levels > 0 {
-		for range r.IntN(4) {
-			n.Subs = append(n.Subs, whatever(r, levels-1))
-		}
-	}
-	return n
 }
 
 // P5.1 to P5.3: whatever rules, some with one name, of whatever sorts.
 func TestWhateverRules(t *testing.T) {
 	r := rand.New(rand.NewPCG(5, 3))
 	for range 20000 {
-		var g api.Grammar
-		for range r.IntN(6) {
-			sort := api.Sort(r.IntN(6))
-			if r.IntN(2) == 0 {
-				sort = api.SParser
-			}
-			g.Rules = append(g.Rules, rule(sort, []string{"a", "b", "c", "d", ""}[r.IntN(5)], whatever(r, r.IntN(4))))
-		}
+		g := api.Grammar{Rules: Whatever(r.IntN, api.KSeq, api.KSeq, api.KAlts, api.KRef, api.KTok)}
 		reread(t, g)
 	}
 }
