@@ -65,18 +65,9 @@ func refused(t *testing.T, g api.Grammar, want api.Errno) {
 	}
 }
 
-// numbers as text, a comma between each two.
-func numbers(l []int) string {
-	var parts []string
-	for _, n := range l {
-		parts = append(parts, strconv.Itoa(n))
-	}
-	return strings.Join(parts, ",")
-}
-
 // line tells all of it as a text: First; of each place its Set, with ! behind if it is Last, then > and Follow; of each token but the first a / ahead of its places.
 func line(a nfas.Auto) string {
-	parts := []string{numbers(a.First) + ":"}
+	parts := []string{Numbers(a.First) + ":"}
 	kind := 0
 	for _, p := range a.Places {
 		for ; kind < p.Kind; kind++ {
@@ -87,7 +78,7 @@ func line(a nfas.Auto) string {
 			s += "!"
 		}
 		if len(p.Follow) > 0 {
-			s += ">" + numbers(p.Follow)
+			s += ">" + Numbers(p.Follow)
 		}
 		parts = append(parts, s)
 	}

@@ -4,7 +4,6 @@ import (
 	"maps"
 	"math/rand/v2"
 	"slices"
-	"strings"
 	"testing"
 	"unicode/utf8"
 
@@ -331,52 +330,12 @@ func TestPairs(t *testing.T) {
 	}
 }
 
-// somehow is a body as one may write it, or not.
-func somehow(r *rand.Rand, levels int, names ...string) api.Node {
-	if levels == 0 || r.IntN(5) == 0 {
-		switch r.IntN(9) {
-		case 0, 1:
-			return Lit([]string{"a", "b", "ab", "ba", "aab", ""}[r.IntN(6)])
-		case 2:
-			return Set('a', 'b')
-		case 3:
-			return []api.Node{Seq(), Set(), Alts(), Plus(), Star(), Pred(Lit("a"))}[r.IntN(6)]
-		case 4, 5:
-			if len(names) > 0 {
-				return Tok(names[r.IntN(len(names))])
-			}
-		}
-		return Set('a'+rune(r.IntN(2)), 'a'+rune(r.IntN(2)))
-	}
-	n := Node([]api.Kind{api.KSeq, api.KSeq, api.KAlts, api.KOpt, api.KStar, api.KPlus}[r.IntN(6)])
-	few := 1
-	if n.Kind == api.KSeq || n.Kind == api.KAlts {
-		few = 1 + r.IntN(3)
-	}
-	for range few {
-		n.Subs = append(n.Subs, somehow(r, levels-1, names...))
-	}
-	return n
-}
-
-// drawn is a grammar of whatever tokens, of runes a and b.
-func drawn(r *rand.Rand) api.Grammar {
-	return Grammar(
-		fragment("E", somehow(r, 2, "F")),
-		Token("A", somehow(r, 3, "E", "F")),
-		Parser("s", Tok("A")),
-		Rule(api.SSkip, "B", somehow(r, 2, "F")),
-		fragment("F", somehow(r, 2)),
-		Token("C", somehow(r, 3, "F", "E")),
-	)
-}
-
 // P8.1: whatever tokens.
 func TestWhateverTokens(t *testing.T) {
 	r := rand.New(rand.NewPCG(8, 1))
 	fine := 0
 	for range 30000 {
-		if reread(t, drawn(r)) {
+		if reread(t, Tokens(r.IntN)) {
 			fine++
 		}
 	}
@@ -387,50 +346,6 @@ func TestWhateverTokens(t *testing.T) {
 		g := api.Grammar{Rules: Whatever(r.IntN, api.KSeq, api.KOpt, api.KTok, api.KLit, api.KSet)}
 		reread(t, g)
 	}
-}
-
-// till are the places in a text behind which a node may be over that begins at one of those; as bits.
-func till(g api.Grammar, n api.Node, s string, from uint) (to uint) {
-	switch n.Kind {
-	case api.KSeq:
-		for _, sub := range n.Subs {
-			from = till(g, sub, s, from)
-		}
-		return from
-	case api.KAlts:
-		for _, sub := range n.Subs {
-			to |= till(g, sub, s, from)
-		}
-		return to
-	case api.KOpt:
-		return from | till(g, n.Subs[0], s, from)
-	case api.KStar, api.KPlus:
-		if n.Kind == api.KStar {
-			to = from
-		}
-		for range len(s) + 1 {
-			if len(n.Subs) > 0 {
-				from = till(g, n.Subs[0], s, from)
-				to |= from
-			}
-		}
-		return to
-	case api.KTok:
-		at := slices.IndexFunc(g.Rules, func(r api.Rule) bool { return r.Name == n.Name })
-		return till(g, g.Rules[at].Body, s, from)
-	case api.KPred:
-		return from
-	}
-	for i := range len(s) + 1 {
-		switch {
-		case from>>i&1 == 0:
-		case n.Kind == api.KLit && strings.HasPrefix(s[i:], n.Text):
-			to |= 1 << (i + len(n.Text))
-		case n.Kind == api.KSet && i < len(s) && slices.ContainsFunc(n.Set, func(x api.Range) bool { return x.Low <= rune(s[i]) && rune(s[i]) <= x.High }):
-			to |= 1 << (i + 1)
-		}
-	}
-	return to
 }
 
 // walks tells of which tokens' last places a text may lead to, from first ones by such as follow; as bits.
@@ -456,19 +371,10 @@ func walks(a nfas.Auto, s string) (kinds uint) {
 // P8.2: of which tokens each short text is one, by their rules and by their places; and places follow those of one token.
 func TestFollows(t *testing.T) {
 	r := rand.New(rand.NewPCG(8, 2))
-	var short []string
-	for size := 1; size <= 6; size++ {
-		for x := range 1 << size {
-			b := make([]byte, size)
-			for i := range b {
-				b[i] = 'a' + byte(x>>i&1)
-			}
-			short = append(short, string(b))
-		}
-	}
+	short := Short(6)
 	found := 0
 	for range 10000 {
-		g := drawn(r)
+		g := Tokens(r.IntN)
 		if !checks.Fine(g) {
 			continue
 		}
@@ -483,7 +389,9 @@ func TestFollows(t *testing.T) {
 		for _, s := range short {
 			want := uint(0)
 			for kind, at := range checks.Of(g, api.SToken, api.SSkip) {
-				want |= till(g, g.Rules[at].Body, s, 1) >> len(s) & 1 << kind
+				if Matches(g, g.Rules[at].Body, s) {
+					want |= 1 << kind
+				}
 			}
 			if kinds := walks(a, s); kinds != want {
 				t.Fatalf("%v: %s; %s is of tokens %b, not %b", g.Rules, line(a), s, kinds, want)
