@@ -1,4 +1,4 @@
-// Package made makes nodes, rules and grammars, whether such may be or not, and short texts, for tests alone.
+// Package made makes nodes, rules, grammars and tables, whether such may be or not, and short texts, for tests alone.
 package made
 
 import (

@@ -262,7 +262,7 @@ func TestWhateverTables(t *testing.T) {
 	for range 30000 {
 		table := built(t, whatever(r, 'a'))
 		for range r.IntN(3) {
-			spoil(r, &table)
+			Spoil(r.IntN, &table)
 		}
 		want := allowed(table)
 		if ok := subsets.May(table); ok != want {
@@ -277,38 +277,6 @@ func TestWhateverTables(t *testing.T) {
 	}
 	if may < 5000 || not < 5000 {
 		t.Error(may, "may be,", not, "may not")
-	}
-}
-
-// spoil puts another number somewhere, or takes something away, or adds it.
-func spoil(r *rand.Rand, t *subsets.Table) {
-	n := []int{-2, -1, 0, 1, 2, len(t.Class), len(t.Next), len(t.Next) - 1, math.MaxInt}[r.IntN(9)]
-	lists := []*[]int{&t.Class, &t.Ends}
-	for i := range t.Next {
-		lists = append(lists, &t.Next[i])
-	}
-	l := lists[r.IntN(len(lists))]
-	if r.IntN(2) == 0 {
-		l = lists[r.IntN(2)]
-	}
-	switch r.IntN(6) {
-	case 0:
-		*l = append(*l, n)
-	case 1:
-		*l = (*l)[:len(*l)/2]
-	case 2:
-		if len(t.Ranges) > 0 {
-			t.Ranges[r.IntN(len(t.Ranges))].Low += rune(r.IntN(5) - 2)
-		}
-	case 3: // two columns that are one, or change places
-		if len(t.Class) > 0 {
-			i, j := r.IntN(len(t.Class)), r.IntN(len(t.Class))
-			t.Class[i], t.Class[j] = t.Class[j], t.Class[i]
-		}
-	default:
-		if len(*l) > 0 {
-			(*l)[r.IntN(len(*l))] = n
-		}
 	}
 }
 

@@ -49,27 +49,13 @@ func refused(t *testing.T, a nfas.Auto, want api.Errno) {
 	}
 }
 
-// span is a range as text: letters, and other numbers as digits.
-func span(r api.Range) string {
-	one := func(n rune) string {
-		if n >= 'a' && n <= 'z' {
-			return string(n)
-		}
-		return strconv.Itoa(int(n))
-	}
-	if r.Low == r.High {
-		return one(r.Low)
-	}
-	return one(r.Low) + "-" + one(r.High)
-}
-
 // text tells places: First; of each its Set, its Kind, with ! behind if it is Last, then > and Follow.
 func text(a nfas.Auto) string {
 	parts := []string{strconv.Itoa(a.Kinds) + " kinds, " + Numbers(a.First) + ":"}
 	for _, p := range a.Places {
 		s := ""
 		for _, r := range p.Set {
-			s += "[" + span(r) + "]"
+			s += "[" + Span(r) + "]"
 		}
 		s += strconv.Itoa(p.Kind)
 		if p.Last {
@@ -83,29 +69,6 @@ func text(a nfas.Auto) string {
 	return strings.Join(parts, " ")
 }
 
-// line tells a table whose columns are its ranges: them; then of each state by which ranges it leads where, and behind ! what ends there.
-func line(t subsets.Table) string {
-	var parts []string
-	for _, r := range t.Ranges {
-		parts = append(parts, span(r))
-	}
-	s := strings.Join(parts, " ") + ":"
-	for state, row := range t.Next {
-		if state > 0 {
-			s += ";"
-		}
-		for column, next := range row {
-			if next != -1 {
-				s += " " + parts[column] + ">" + strconv.Itoa(next)
-			}
-		}
-		if end := t.Ends[state]; end != -1 {
-			s += " !" + strconv.Itoa(end)
-		}
-	}
-	return s
-}
-
 // told holds the table of places against what is awaited.
 func told(t *testing.T, a nfas.Auto, want string) {
 	t.Helper()
@@ -113,7 +76,7 @@ func told(t *testing.T, a nfas.Auto, want string) {
 	if !subsets.May(table) {
 		t.Errorf("Of(%.500s): a table that may not be: %v", text(a), table)
 	}
-	if s := line(table); s != want {
+	if s := Line(table); s != want {
 		t.Errorf("Of(%.500s):\n%.1000s, not\n%.1000s", text(a), s, want)
 	}
 }
@@ -588,7 +551,7 @@ func TestApart(t *testing.T) {
 	if !reflect.DeepEqual(a, was) {
 		t.Error("what was handed in is another one")
 	}
-	want := line(table)
+	want := Line(table)
 	lists := map[*int]bool{}
 	for i, l := range append([][]int{a.First, table.Class, table.Ends}, table.Next...) {
 		if i > 0 && cap(l) != len(l) || lists[unsafe.SliceData(l)] {
@@ -604,10 +567,7 @@ func TestApart(t *testing.T) {
 			t.Error("a Set is the ranges")
 		}
 	}
-	asked := subsets.Table{Ranges: slices.Clone(table.Ranges), Class: slices.Clone(table.Class), Ends: slices.Clone(table.Ends)}
-	for _, row := range table.Next {
-		asked.Next = append(asked.Next, slices.Clone(row))
-	}
+	asked := Copied(table)
 	if !subsets.May(asked) || asked.Step(0, 'a') != table.Step(0, 'a') || !reflect.DeepEqual(asked, table) {
 		t.Error("what was asked is another one")
 	}
@@ -619,8 +579,8 @@ func TestApart(t *testing.T) {
 	if !reflect.DeepEqual(a, was) {
 		t.Error("what was handed in shares memory with the answer")
 	}
-	if again := built(t, a); line(again) != want {
-		t.Error("another answer of the same:", line(again))
+	if again := built(t, a); Line(again) != want {
+		t.Error("another answer of the same:", Line(again))
 	}
 	again := built(t, a)
 	for _, p := range a.Places {
@@ -629,8 +589,8 @@ func TestApart(t *testing.T) {
 	}
 	clear(a.First)
 	clear(a.Places)
-	if line(again) != want {
-		t.Error("what was handed in is kept:", line(again))
+	if Line(again) != want {
+		t.Error("what was handed in is kept:", Line(again))
 	}
 }
 
