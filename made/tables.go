@@ -7,6 +7,8 @@ import (
 	"strings"
 
 	"harbinger/api"
+	"harbinger/grams"
+	"harbinger/nfas"
 	"harbinger/subsets"
 )
 
@@ -113,6 +115,17 @@ func number(text string) int {
 	return n
 }
 
+// Lexed is the table of the tokens that a text tells, of a grammar with which nothing is wrong.
+func Lexed(text string) subsets.Table {
+	g, fault := grams.Read("grammar G; s : ; " + text)
+	a, e := nfas.Build(g)
+	t, f := subsets.Of(a)
+	if fault.E != api.OK || e != api.OK || f != api.OK {
+		panic(text)
+	}
+	return t
+}
+
 // Drawn is a table of whatever few states, that may be; its ranges hold numbers from a base on, so many. What is drawn is a number below the one that is told.
 func Drawn(draw func(below int) int, base rune, width int) (t subsets.Table) {
 	for at, left := 0, draw(5); at < width && left > 0; left-- {
@@ -182,4 +195,40 @@ func Spoil(draw func(below int) int, t *subsets.Table) {
 			(*l)[draw(len(*l))] = n
 		}
 	}
+}
+
+// Wrong are tables that may not be.
+func Wrong() []subsets.Table {
+	a := Set('a', 'a').Set
+	return []subsets.Table{
+		{},
+		{Next: [][]int{nil}},
+		{Ends: []int{0}},
+		{Next: [][]int{nil}, Ends: []int{-2}},
+		{Next: [][]int{{0}}, Ends: []int{0}},
+		{Ranges: a, Next: [][]int{nil}, Ends: []int{0}},
+		{Ranges: a, Class: []int{0}, Next: [][]int{nil}, Ends: []int{0}},
+		{Ranges: a, Class: []int{0}, Next: [][]int{{1}}, Ends: []int{0}},
+		{Ranges: a, Class: []int{0}, Next: [][]int{{-2}}, Ends: []int{0}},
+		{Ranges: a, Class: []int{1}, Next: [][]int{{0, 0}}, Ends: []int{0}},
+		{Ranges: a, Class: []int{-1}, Next: [][]int{{0}}, Ends: []int{0}},
+		{Ranges: Set('b', 'a').Set, Class: []int{0}, Next: [][]int{{0}}, Ends: []int{0}},
+		{Ranges: Set('a', 'b', 'b', 'c').Set, Class: []int{0, 0}, Next: [][]int{{0}}, Ends: []int{0}},
+		{Ranges: Set('b', 'b', 'a', 'a').Set, Class: []int{0, 0}, Next: [][]int{{0}}, Ends: []int{0}},
+		{Ranges: a, Class: []int{0}, Next: [][]int{{0}, {5}}, Ends: []int{0, 0}}, // in a state that nothing leads to
+		{Ranges: a, Class: []int{0}, Next: [][]int{{0}, {0, 0}}, Ends: []int{0, 0}},
+		{Ranges: a, Class: []int{math.MaxInt}, Next: [][]int{{0}}, Ends: []int{0}},
+		{Ranges: a, Class: []int{0}, Next: [][]int{{math.MaxInt}, {math.MinInt}}, Ends: []int{0, math.MinInt}},
+	}
+}
+
+// Done is what a table does with a text, by Step.
+func Done(t subsets.Table, text string) int {
+	state := 0
+	for _, r := range text {
+		if state = t.Step(state, r); state < 0 {
+			return -1
+		}
+	}
+	return t.Ends[state]
 }

@@ -9,10 +9,8 @@ import (
 	"unsafe"
 
 	"harbinger/api"
-	"harbinger/grams"
 	. "harbinger/made"
 	"harbinger/mins"
-	"harbinger/nfas"
 	"harbinger/subsets"
 )
 
@@ -42,18 +40,6 @@ func told(t *testing.T, table subsets.Table, want string) {
 	if !mins.Alike(table, out) || !mins.Alike(out, table) {
 		t.Errorf("%.500s is not alike", Line(table))
 	}
-}
-
-// lexed is the table of a grammar's tokens.
-func lexed(t *testing.T, s string) subsets.Table {
-	t.Helper()
-	g, fault := grams.Read("grammar G; s : ; " + s)
-	a, e := nfas.Build(g)
-	table, f := subsets.Of(a)
-	if fault.E != api.OK || e != api.OK || f != api.OK {
-		t.Fatalf("%.500s: fault %d, errors %d and %d", s, fault.E, e, f)
-	}
-	return table
 }
 
 // P10.1: the chapter's example, number by number.
@@ -162,7 +148,7 @@ func TestTexts(t *testing.T) {
 		{"A : 'a' ; skip S : ' '+ ; B : 'b' ;", "32 a b: 32>1 a>2 b>3; 32>1 !1; !0; !2"},
 		{"A : 'x'? [a-b] 'y' | [c-d] 'y' ;", "a-b c-d x y: a-b>1 c-d>1 x>2; y>3; a-b>1; !0"},
 	} {
-		told(t, lexed(t, k.text), k.want)
+		told(t, Lexed(k.text), k.want)
 	}
 }
 
@@ -214,11 +200,11 @@ func TestManyStates(t *testing.T) {
 			t.Errorf("a ring with %v: %d states", k.at, len(out.Next))
 		}
 	}
-	table := lexed(t, "A : '"+strings.Repeat("ab", 2000)+"' ; B : 'c' ;")
+	table := Lexed("A : '" + strings.Repeat("ab", 2000) + "' ; B : 'c' ;")
 	if out := least(t, table); len(out.Next) != 4002 || out.Ends[4001] != 0 {
 		t.Errorf("%d states", len(out.Next))
 	}
-	table = lexed(t, "A : '"+strings.Repeat("ab", 1000)+"' ; B : [a-z]+ ;")
+	table = Lexed("A : '" + strings.Repeat("ab", 1000) + "' ; B : [a-z]+ ;")
 	if out := least(t, table); len(out.Next) != 2002 || len(out.Ranges) != 3 {
 		t.Errorf("%d states, %d ranges", len(out.Next), len(out.Ranges))
 	}
@@ -276,35 +262,10 @@ func TestManyRanges(t *testing.T) {
 	told(t, table, "0-299999: 0-299999>1; !0")
 }
 
-// wrong are tables that may not be.
-func wrong() []subsets.Table {
-	a := Set('a', 'a').Set
-	return []subsets.Table{
-		{},
-		{Next: [][]int{nil}},
-		{Ends: []int{0}},
-		{Next: [][]int{nil}, Ends: []int{-2}},
-		{Next: [][]int{{0}}, Ends: []int{0}},
-		{Ranges: a, Next: [][]int{nil}, Ends: []int{0}},
-		{Ranges: a, Class: []int{0}, Next: [][]int{nil}, Ends: []int{0}},
-		{Ranges: a, Class: []int{0}, Next: [][]int{{1}}, Ends: []int{0}},
-		{Ranges: a, Class: []int{0}, Next: [][]int{{-2}}, Ends: []int{0}},
-		{Ranges: a, Class: []int{1}, Next: [][]int{{0, 0}}, Ends: []int{0}},
-		{Ranges: a, Class: []int{-1}, Next: [][]int{{0}}, Ends: []int{0}},
-		{Ranges: Set('b', 'a').Set, Class: []int{0}, Next: [][]int{{0}}, Ends: []int{0}},
-		{Ranges: Set('a', 'b', 'b', 'c').Set, Class: []int{0, 0}, Next: [][]int{{0}}, Ends: []int{0}},
-		{Ranges: Set('b', 'b', 'a', 'a').Set, Class: []int{0, 0}, Next: [][]int{{0}}, Ends: []int{0}},
-		{Ranges: a, Class: []int{0}, Next: [][]int{{0}, {5}}, Ends: []int{0, 0}}, // in a state that nothing leads to
-		{Ranges: a, Class: []int{0}, Next: [][]int{{0}, {0, 0}}, Ends: []int{0, 0}},
-		{Ranges: a, Class: []int{math.MaxInt}, Next: [][]int{{0}}, Ends: []int{0}},
-		{Ranges: a, Class: []int{0}, Next: [][]int{{math.MaxInt}, {math.MinInt}}, Ends: []int{0, math.MinInt}},
-	}
-}
-
 // P10.1, P10.2: of what may not be there is no least one, and nothing is alike, not even itself.
 func TestWrong(t *testing.T) {
 	fine := Table("a: a>0 !0")
-	for i, table := range wrong() {
+	for i, table := range Wrong() {
 		if out, e := mins.Least(table); e != api.ErrArg || !reflect.DeepEqual(out, subsets.Table{}) {
 			t.Errorf("%d: Least(%v): error %d, %v", i, table, e, out)
 		}

@@ -164,17 +164,6 @@ func TestSmall(t *testing.T) {
 	}
 }
 
-// done is what a table does with a text, by Step.
-func done(t subsets.Table, text string) int {
-	state := 0
-	for _, r := range text {
-		if state = t.Step(state, r); state < 0 {
-			return -1
-		}
-	}
-	return t.Ends[state]
-}
-
 // P10.1, P10.2, P10.3: all tables of up to three states, by what they do with all texts that could tell two of them apart: of those that do the same the least one is the same, has just as few states as the one of fewest, and they are alike; of two that do not, it is another one, and they are not.
 func TestFewest(t *testing.T) {
 	texts := append(Short(6), "")
@@ -188,7 +177,7 @@ func TestFewest(t *testing.T) {
 		for _, table := range few(states, -1, 0) {
 			var does []byte
 			for _, text := range texts {
-				does = append(does, byte(1+done(table, text)))
+				does = append(does, byte(1+Done(table, text)))
 			}
 			out := least(t, table)
 			g, ok := groups[string(does)]
@@ -375,8 +364,8 @@ func TestShortTexts(t *testing.T) {
 		}
 		out := held(t, table, 'a')
 		for _, s := range short {
-			if done(out, s) != done(table, s) {
-				t.Fatalf("%v: with %s the least one does %d, not %d", g.Rules, s, done(out, s), done(table, s))
+			if Done(out, s) != Done(table, s) {
+				t.Fatalf("%v: with %s the least one does %d, not %d", g.Rules, s, Done(out, s), Done(table, s))
 			}
 		}
 		if len(out.Next) < len(table.Next) {
