@@ -7,7 +7,8 @@ import (
 	"harbinger/api"
 )
 
-const levels = 1 << 17 // more than anything is promised of: what is deeper is within itself, and never ends
+// Levels are more than anything is promised of: what is deeper is within itself, and never ends.
+const Levels = 1 << 17
 
 // Parts goes through a node and all that is in it, each ahead of its Subs, and tells each one's level: 1 is that of the node itself. Of a node that never ends it goes on till it is left.
 func Parts(n api.Node) iter.Seq2[int, api.Node] {
@@ -32,7 +33,7 @@ func walk(n api.Node, level int, yield func(int, api.Node) bool) bool {
 // Ends: does a node, or is it within itself?
 func Ends(n api.Node) bool {
 	for level := range Parts(n) {
-		if level > levels {
+		if level > Levels {
 			return false
 		}
 	}

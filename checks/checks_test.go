@@ -19,15 +19,6 @@ import (
 // strange is a sort that is none of the four: no parser's.
 const strange = api.SSkip + 1
 
-func read(t *testing.T, s string) api.Grammar {
-	t.Helper()
-	g, fault := grams.Read("grammar G; " + s)
-	if fault.E != api.OK {
-		t.Fatal(s, fault)
-	}
-	return g
-}
-
 // line tells problems as a text: of each its code, its rule's place, and its name.
 func line(l []checks.Problem) string {
 	codes := [...]string{"", "twice", "none", "sort", "left", "round", "loop", "empty", "start"}
@@ -54,8 +45,8 @@ func told(t *testing.T, g api.Grammar, want string) {
 
 // P6.1: the chapter's examples, and the numbers of the codes.
 func TestExamples(t *testing.T) {
-	told(t, read(t, "a : b? a ;"), "none 0 b, left 0 a")
-	told(t, read(t, "A : 'x'* ;"), "empty 0 A, start -1")
+	told(t, Read("a : b? a ;"), "none 0 b, left 0 a")
+	told(t, Read("A : 'x'* ;"), "empty 0 A, start -1")
 	all := []checks.Code{checks.PrTwice, checks.PrNone, checks.PrSort, checks.PrLeft, checks.PrRound, checks.PrLoop, checks.PrEmpty, checks.PrStart}
 	for i, c := range all {
 		if int(c) != i+1 {
@@ -84,7 +75,7 @@ CLOSE : ')' ;
 fragment Letter : [a-zA-Z] ;
 skip GAP : ' '+ | '\n' ;`,
 	} {
-		told(t, read(t, s), "")
+		told(t, Read(s), "")
 	}
 }
 
@@ -136,7 +127,7 @@ func TestTexts(t *testing.T) {
 				"twice 4 A, empty 4 A, " +
 				"twice 5 S, none 5 T"},
 	} {
-		told(t, read(t, k.text), k.want)
+		told(t, Read(k.text), k.want)
 	}
 	told(t, api.Grammar{}, "start -1")
 	told(t, Grammar(), "start -1")
@@ -364,7 +355,7 @@ func TestRings(t *testing.T) {
 
 // many is a grammar with all that can be wrong.
 func many(t *testing.T) api.Grammar {
-	g := read(t, "a : (x a S (y*)? B?)* ; a : (a (A?)*)+ ; skip S : S (S? Z)+ (Z? S*)* ; A : (S A)* (A*)* ; A : ; fragment S : T ;")
+	g := Read("a : (x a S (y*)? B?)* ; a : (a (A?)*)+ ; skip S : S (S? Z)+ (Z? S*)* ; A : (S A)* (A*)* ; A : ; fragment S : T ;")
 	g.Rules = append(g.Rules, Rule(strange, "z", Ref("z")), Parser("l", Seq(Ref("l"), api.Node{Kind: api.KRef, Name: "q", Set: []api.Range{{Low: 1, High: 2}}, Subs: []api.Node{Star(Star(), Seq())}})))
 	return g
 }

@@ -1,10 +1,11 @@
-// Package made makes nodes, rules, grammars and tables, whether such may be or not, and short texts, for tests alone.
+// Package made makes nodes, rules, grammars, tables and nets, whether such may be or not, and short texts, for tests alone.
 package made
 
 import (
 	"slices"
 
 	"harbinger/api"
+	"harbinger/grams"
 )
 
 // Node of whatever kind; it has no list where it has no Subs.
@@ -62,6 +63,15 @@ func Grammar(rules ...api.Rule) api.Grammar {
 	return api.Grammar{Name: "G", Options: api.Options{Bound: 2, States: 256}, Rules: rules}
 }
 
+// Read is the grammar of the rules that a text tells.
+func Read(text string) api.Grammar {
+	g, fault := grams.Read("grammar G; " + text)
+	if fault.E != api.OK {
+		panic(text)
+	}
+	return g
+}
+
 // Chain is so many nodes of a kind, each within the one ahead of it, and a leaf.
 func Chain(above int, k api.Kind, leaf api.Node) api.Node {
 	for range above {
@@ -92,6 +102,38 @@ func Rings(leaf api.Node) []api.Node {
 		all = append(all, one, two, three, Star(leaf, one))
 	}
 	return all
+}
+
+// Wide is a node of a kind that has itself many times.
+func Wide(k api.Kind) api.Node {
+	n := Node(k, make([]api.Node, 50000)...)
+	for i := range n.Subs {
+		n.Subs[i] = n
+	}
+	return n
+}
+
+// Faults are texts of rules with each of which something is wrong: each code of checks is in one of them.
+func Faults() []string {
+	return []string{
+		"A : 'a' ;",
+		"fragment F : 'f' ;",
+		"a : A ; A : 'a' ; A : 'b' ;",
+		"a : ; a : ;",
+		"a : b ; A : 'a' ;",
+		"a : A ; A : B ;",
+		"a : A ; A : B ; B : 'b' ;",
+		"a : F ; fragment F : 'f' ;",
+		"a : A ; A : S ; skip S : ' ' ;",
+		"a : a ; A : 'a' ;",
+		"a : A ; A : F ; fragment F : 'x' F ;",
+		"a : ; fragment F : 'x' E ; fragment E : F ;",
+		"a : A ; A : 'x' A ;",
+		"a : A ; A : ('a'?)* 'b' ;",
+		"a : (A?)+ ; A : 'a' ;",
+		"a : A ; A : 'a'? ;",
+		"a : A ; skip S : ; A : 'a' ;",
+	}
 }
 
 // Grown are all nodes of some leaves and some kinds, by how many they are: the i-th list has those of i, up to the most.

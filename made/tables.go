@@ -7,7 +7,6 @@ import (
 	"strings"
 
 	"harbinger/api"
-	"harbinger/grams"
 	"harbinger/nfas"
 	"harbinger/subsets"
 )
@@ -117,10 +116,9 @@ func number(text string) int {
 
 // Lexed is the table of the tokens that a text tells, of a grammar with which nothing is wrong.
 func Lexed(text string) subsets.Table {
-	g, fault := grams.Read("grammar G; s : ; " + text)
-	a, e := nfas.Build(g)
+	a, e := nfas.Build(Read("s : ; " + text))
 	t, f := subsets.Of(a)
-	if fault.E != api.OK || e != api.OK || f != api.OK {
+	if e != api.OK || f != api.OK {
 		panic(text)
 	}
 	return t

@@ -23,15 +23,6 @@ const strange = api.SSkip + 1
 // most is how many nodes may be gone through.
 const most = 65536
 
-func read(t *testing.T, s string) api.Grammar {
-	t.Helper()
-	g, fault := grams.Read("grammar G; " + s)
-	if fault.E != api.OK {
-		t.Fatal(s, fault)
-	}
-	return g
-}
-
 // whole is a grammar of a parser's rule, which is not looked at, and others.
 func whole(rules ...api.Rule) api.Grammar {
 	return Grammar(append([]api.Rule{Parser("s", Seq())}, rules...)...)
@@ -98,7 +89,7 @@ func told(t *testing.T, g api.Grammar, want string) {
 
 // P8.1: the chapter's example, number by number.
 func TestExample(t *testing.T) {
-	a := built(t, read(t, "a : A ; A : 'ab'* [x] ;"))
+	a := built(t, Read("a : A ; A : 'ab'* [x] ;"))
 	want := nfas.Auto{
 		Places: []nfas.Place{
 			{Set: Set('a', 'a').Set, Follow: []int{1}},
@@ -158,9 +149,9 @@ func TestTexts(t *testing.T) {
 		{"'a' 'a'* | 'a'+ 'b'", "0,2: a!>1 a!>1 a>2,3 b!"},
 	} {
 		if k.want != "" {
-			told(t, read(t, "a : A ; A : "+k.text+" ;"), k.want)
+			told(t, Read("a : A ; A : "+k.text+" ;"), k.want)
 		} else {
-			refused(t, read(t, "a : A ; A : "+k.text+" ;"), api.ErrArg) // it may be empty
+			refused(t, Read("a : A ; A : "+k.text+" ;"), api.ErrArg) // it may be empty
 		}
 	}
 }
@@ -189,7 +180,7 @@ fragment Digit : '0'..'9' ;
 NUMBER : Digit+ ('.' Digit+)? ;`,
 			"0,3,4,5,6,9,10,11: a-zA-Z_!>1,2 a-zA-Z_!>1,2 0-9!>1,2 / ,! / \\u{20}!>4,5 \\n!>4,5 />7 /!>8 \\u{0}-\\t\\u{b}-\\u{d7ff}\\u{e000}-\\u{10ffff}!>8 / (! / )! / 0-9!>11,12 .>13 0-9!>13"},
 	} {
-		g := read(t, k.text)
+		g := Read(k.text)
 		if k.want == "" {
 			refused(t, g, api.ErrArg)
 			continue
@@ -312,26 +303,8 @@ func TestSets(t *testing.T) {
 // P8.1: a grammar with which something is wrong, whatever that is, and whatever else there is (R2).
 func TestWrong(t *testing.T) {
 	found := map[checks.Code]bool{}
-	for _, s := range []string{
-		"A : 'a' ;",
-		"fragment F : 'f' ;",
-		"a : A ; A : 'a' ; A : 'b' ;",
-		"a : ; a : ;",
-		"a : b ; A : 'a' ;",
-		"a : A ; A : B ;",
-		"a : A ; A : B ; B : 'b' ;",
-		"a : F ; fragment F : 'f' ;",
-		"a : A ; A : S ; skip S : ' ' ;",
-		"a : a ; A : 'a' ;",
-		"a : A ; A : F ; fragment F : 'x' F ;",
-		"a : ; fragment F : 'x' E ; fragment E : F ;",
-		"a : A ; A : 'x' A ;",
-		"a : A ; A : ('a'?)* 'b' ;",
-		"a : (A?)+ ; A : 'a' ;",
-		"a : A ; A : 'a'? ;",
-		"a : A ; skip S : ; A : 'a' ;",
-	} {
-		g := read(t, s)
+	for _, s := range Faults() {
+		g := Read(s)
 		for _, p := range checks.Check(g) {
 			found[p.Code] = true
 		}
@@ -538,10 +511,7 @@ func TestRings(t *testing.T) {
 		told(t, whole(Token("A", Lit("a")), fragment("F", n)), "0: a!") // that is named by none
 	}
 	for _, k := range []api.Kind{api.KSeq, api.KAlts} { // what is beside is not gone through any more
-		wide := Node(k, make([]api.Node, 50000)...)
-		for i := range wide.Subs {
-			wide.Subs[i] = wide
-		}
+		wide := Wide(k)
 		refused(t, whole(Token("A", wide), Token("B", wide)), api.ErrLimit)
 	}
 }
@@ -563,7 +533,7 @@ func goes(n api.Node, deep int) bool {
 
 // R1, R4, R5: nothing that is handed in changes, nothing of it is kept, lists have no room behind and share no memory, and the same call answers the same, whatever became of an answer.
 func TestApart(t *testing.T) {
-	g := read(t, "a : A ; A : F [a-cx-z] (F | 'b')* ; fragment F : [0-9] 'é'? ; skip S : [ \\n]+ | F+ ; B : ~[a-z0] | 'abcd' [a-cABCD]? ;")
+	g := Read("a : A ; A : F [a-cx-z] (F | 'b')* ; fragment F : [0-9] 'é'? ; skip S : [ \\n]+ | F+ ; B : ~[a-z0] | 'abcd' [a-cABCD]? ;")
 	g.Rules = append(g.Rules, Token("C", Seq(Set(), api.Node{Kind: api.KSet, Set: []api.Range{}}, api.Node{Kind: api.KSet, Set: make([]api.Range, 1, 9)})))
 	was := g
 	was.Rules = slices.Clone(g.Rules)
